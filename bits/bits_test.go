@@ -7,29 +7,8 @@ import (
 	"testing"
 
 	"jackstay/bits"
+	"jackstay/rows"
 )
-
-// row reads a text of r (recessive) and d (dominant) as bits.
-func row(s string) []bool {
-	var l []bool
-	for _, c := range s {
-		l = append(l, c == 'r')
-	}
-	return l
-}
-
-// text is the inverse of row.
-func text(l []bool) string {
-	var s strings.Builder
-	for _, bit := range l {
-		if bit {
-			s.WriteByte('r')
-		} else {
-			s.WriteByte('d')
-		}
-	}
-	return s.String()
-}
 
 // numbers are those with few or many ones, and those at the edges of bytes.
 func numbers() []uint32 {
@@ -59,7 +38,7 @@ func TestOfListsTheHighestBitFirst(t *testing.T) {
 		{0x80000001, 32, "r" + strings.Repeat("d", 30) + "r"},
 		{0x80000001, 31, strings.Repeat("d", 30) + "r"},
 	} {
-		if s := text(bits.Of(x.n, x.many)); s != x.want {
+		if s := rows.Text(bits.Of(x.n, x.many)); s != x.want {
 			t.Errorf("Of(%#x, %d) is %q, not %q", x.n, x.many, s, x.want)
 		}
 	}
@@ -73,10 +52,10 @@ func TestOfHasLeadingZerosAbove32(t *testing.T) {
 				t.Fatalf("Of(%#x, %d) has %d bits", n, many, len(l))
 			}
 			if slices.Contains(l[:many-32], true) {
-				t.Fatalf("Of(%#x, %d) begins with %q", n, many, text(l[:many-32]))
+				t.Fatalf("Of(%#x, %d) begins with %q", n, many, rows.Text(l[:many-32]))
 			}
 			if !slices.Equal(l[many-32:], bits.Of(n, 32)) {
-				t.Fatalf("Of(%#x, %d) ends with %q", n, many, text(l[many-32:]))
+				t.Fatalf("Of(%#x, %d) ends with %q", n, many, rows.Text(l[many-32:]))
 			}
 		}
 	}
@@ -90,8 +69,8 @@ func TestOfBoundsTheCount(t *testing.T) {
 		if len(l) != x.want {
 			t.Errorf("Of(.., %d) has %d bits, not %d", x.many, len(l), x.want)
 		}
-		if ones := min(x.want, 32); strings.Count(text(l), "r") != ones {
-			t.Errorf("Of(.., %d) is %q", x.many, text(l))
+		if ones := min(x.want, 32); strings.Count(rows.Text(l), "r") != ones {
+			t.Errorf("Of(.., %d) is %q", x.many, rows.Text(l))
 		}
 	}
 }
@@ -111,7 +90,7 @@ func TestNumberReadsTheHighestBitFirst(t *testing.T) {
 		{strings.Repeat("r", 32), 0xffffffff},
 		{"r" + strings.Repeat("d", 31), 0x80000000},
 	} {
-		if n := bits.Number(row(x.l)); n != x.want {
+		if n := bits.Number(rows.Of(x.l)); n != x.want {
 			t.Errorf("Number(%q) is %#x, not %#x", x.l, n, x.want)
 		}
 	}
@@ -120,7 +99,7 @@ func TestNumberReadsTheHighestBitFirst(t *testing.T) {
 func TestNumberTakesTheLast32(t *testing.T) {
 	for _, more := range []string{"r", "d", "rd", strings.Repeat("r", 31), strings.Repeat("r", 32), strings.Repeat("rd", 500)} {
 		for _, n := range numbers() {
-			l := append(row(more), bits.Of(n, 32)...)
+			l := append(rows.Of(more), bits.Of(n, 32)...)
 			if got := bits.Number(l); got != n {
 				t.Fatalf("Number of %q and the bits of %#x is %#x", more, n, got)
 			}
@@ -143,7 +122,7 @@ func TestOfBytesListsOneByteAfterTheOther(t *testing.T) {
 		{"\xa5\x01", "rdrddrdr" + "dddddddr"},
 		{"\x00\x80\xff", "dddddddd" + "rddddddd" + "rrrrrrrr"},
 	} {
-		if s := text(bits.OfBytes([]byte(x.b))); s != x.want {
+		if s := rows.Text(bits.OfBytes([]byte(x.b))); s != x.want {
 			t.Errorf("OfBytes(%x) is %q, not %q", x.b, s, x.want)
 		}
 	}
@@ -160,7 +139,7 @@ func TestBytesReadsEightBitsEach(t *testing.T) {
 		{"rdrddrdr" + "dddddddr", "\xa5\x01"},
 		{"rrrrrrrr" + "dddddddd" + "ddddrrrr", "\xff\x00\x0f"},
 	} {
-		if b := bits.Bytes(row(x.l)); string(b) != x.want {
+		if b := bits.Bytes(rows.Of(x.l)); string(b) != x.want {
 			t.Errorf("Bytes(%q) is %x, not %x", x.l, b, x.want)
 		}
 	}
@@ -169,7 +148,7 @@ func TestBytesReadsEightBitsEach(t *testing.T) {
 func TestBytesIgnoresWhatIsLeftOver(t *testing.T) {
 	for _, whole := range []string{"", "\xa5", "\x00\xff", "12345678"} {
 		for _, rest := range []string{"r", "d", "rr", "ddr", "rrrr", "drdrd", "rrrrrr", "rrrrrrr", "ddddddd"} {
-			l := append(bits.OfBytes([]byte(whole)), row(rest)...)
+			l := append(bits.OfBytes([]byte(whole)), rows.Of(rest)...)
 			if b := bits.Bytes(l); string(b) != whole {
 				t.Errorf("Bytes of %x and %q is %x", whole, rest, b)
 			}
@@ -195,7 +174,7 @@ func TestBus(t *testing.T) {
 		{strings.Repeat("d", 32), false},
 		{strings.Repeat("r", 1000), true},
 	} {
-		if bus := bits.Bus(row(x.drives)); bus != x.want {
+		if bus := bits.Bus(rows.Of(x.drives)); bus != x.want {
 			t.Errorf("Bus(%q) is %v", x.drives, bus)
 		}
 	}
@@ -230,7 +209,7 @@ func TestNumbersSurvive(t *testing.T) {
 	}
 	for n := range uint32(1 << 12) {
 		if l := bits.Of(n, 12); bits.Number(l) != n {
-			t.Fatalf("%#x comes back from %q", n, text(l))
+			t.Fatalf("%#x comes back from %q", n, rows.Text(l))
 		}
 	}
 }
@@ -254,10 +233,10 @@ func TestBitsSurvive(t *testing.T) {
 		for _, many := range []int{0, 8, 16, 24, 32, 40, 64} {
 			l := bits.Of(n, many)
 			if got := bits.OfBytes(bits.Bytes(l)); !slices.Equal(got, l) {
-				t.Fatalf("%q comes back from bytes as %q", text(l), text(got))
+				t.Fatalf("%q comes back from bytes as %q", rows.Text(l), rows.Text(got))
 			}
 			if got := bits.Of(bits.Number(l), many); !slices.Equal(got, l) {
-				t.Fatalf("%q comes back from a number as %q", text(l), text(got))
+				t.Fatalf("%q comes back from a number as %q", rows.Text(l), rows.Text(got))
 			}
 		}
 	}
@@ -270,10 +249,10 @@ func TestOneMoreNode(t *testing.T) {
 			bus := bits.Bus(drives)
 			for at := range many + 1 {
 				if bits.Bus(slices.Insert(slices.Clone(drives), at, true)) != bus {
-					t.Fatalf("one more recessive node at %d changes the bus of %q", at, text(drives))
+					t.Fatalf("one more recessive node at %d changes the bus of %q", at, rows.Text(drives))
 				}
 				if bits.Bus(slices.Insert(slices.Clone(drives), at, false)) {
-					t.Fatalf("one more dominant node at %d of %q leaves the bus recessive", at, text(drives))
+					t.Fatalf("one more dominant node at %d of %q leaves the bus recessive", at, rows.Text(drives))
 				}
 			}
 		}

@@ -7,6 +7,7 @@ import (
 	"testing"
 
 	"jackstay/bits"
+	"jackstay/rows"
 )
 
 // The rules that hold everywhere, R1 to R7, as far as they touch this layer. It
@@ -105,7 +106,7 @@ func TestResultsAreNew(t *testing.T) {
 	} {
 		first, second := call(), call()
 		want := slices.Clone(second)
-		turn(first[:cap(first)])
+		rows.Turn(first[:cap(first)])
 		if !slices.Equal(second, want) || !slices.Equal(call(), want) {
 			t.Errorf("results of %s share memory", name)
 		}
@@ -114,13 +115,6 @@ func TestResultsAreNew(t *testing.T) {
 	clear(first[:cap(first)])
 	if !bytes.Equal(second, b) || !bytes.Equal(bits.Bytes(l), b) {
 		t.Error("results of Bytes share memory")
-	}
-}
-
-// turn inverts every bit of l.
-func turn(l []bool) {
-	for i := range l {
-		l[i] = !l[i]
 	}
 }
 
@@ -133,7 +127,7 @@ func TestArgumentsAreNotKept(t *testing.T) {
 	if !slices.Equal(l, bits.OfBytes([]byte{0x0f, 0xa5})) {
 		t.Error("OfBytes keeps its argument")
 	}
-	turn(l)
+	rows.Turn(l)
 	if !bytes.Equal(got, []byte{0x0f, 0xa5}) {
 		t.Error("Bytes keeps its argument")
 	}
@@ -141,12 +135,12 @@ func TestArgumentsAreNotKept(t *testing.T) {
 
 // R4: a call's results hang on its arguments alone, not on the calls before it.
 func TestResultsHangOnArgumentsAlone(t *testing.T) {
-	l := row("rrdrdddrrd")
+	l := rows.Of("rrdrdddrrd")
 	for round := range 3 {
-		if s := text(bits.Of(0x5a, 8)); s != "drdrrdrd" {
+		if s := rows.Text(bits.Of(0x5a, 8)); s != "drdrrdrd" {
 			t.Errorf("round %d: Of is %q", round, s)
 		}
-		if s := text(bits.OfBytes([]byte{0x5a})); s != "drdrrdrd" {
+		if s := rows.Text(bits.OfBytes([]byte{0x5a})); s != "drdrrdrd" {
 			t.Errorf("round %d: OfBytes is %q", round, s)
 		}
 		if n := bits.Number(l); n != 0x346 {
@@ -167,7 +161,7 @@ func TestResultsHangOnArgumentsAlone(t *testing.T) {
 // R4: nor on a capacity.
 func TestCapacityDoesNotMatter(t *testing.T) {
 	whole := slices.Repeat([]bool{false}, 64)
-	copy(whole, row("rrrrrrrrr"))
+	copy(whole, rows.Of("rrrrrrrrr"))
 	for _, l := range [][]bool{whole[:9], whole[:9:9]} {
 		if bits.Number(l) != 0x1ff || !bits.Bus(l) || !bytes.Equal(bits.Bytes(l), []byte{0xff}) {
 			t.Errorf("with the capacity %d the results are others", cap(l))
