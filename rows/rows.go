@@ -1,8 +1,14 @@
 // Package rows writes rows of bits as texts, so that tests are easy to read: r is
-// a recessive bit, d a dominant one. It is for tests alone.
+// a recessive bit, d a dominant one. It lists all short ones, too. It is for tests
+// alone.
 package rows
 
-import "strings"
+import (
+	"iter"
+	"strings"
+
+	"jackstay/bits"
+)
 
 // Of returns the bits that s says; what is no r is dominant.
 func Of(s string) []bool {
@@ -24,6 +30,19 @@ func Text(l []bool) string {
 		}
 	}
 	return s.String()
+}
+
+// UpTo yields the texts of all rows of at most many bits, short ones first.
+func UpTo(many int) iter.Seq[string] {
+	return func(yield func(string) bool) {
+		for long := range many + 1 {
+			for n := range uint32(1) << long {
+				if !yield(Text(bits.Of(n, long))) {
+					return
+				}
+			}
+		}
+	}
 }
 
 // Turn inverts every bit of l.

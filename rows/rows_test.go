@@ -23,3 +23,18 @@ func TestRows(t *testing.T) {
 		t.Error("no bits are some")
 	}
 }
+
+func TestUpTo(t *testing.T) {
+	want := []string{"", "d", "r", "dd", "dr", "rd", "rr"}
+	if got := slices.Collect(rows.UpTo(2)); !slices.Equal(got, want) {
+		t.Errorf("the rows of at most 2 bits are %q", got)
+	}
+	if got := slices.Collect(rows.UpTo(-1)); len(got) != 0 {
+		t.Errorf("the rows of less than no bits are %q", got)
+	}
+	for s := range rows.UpTo(2) {
+		if s == "dr" {
+			break
+		}
+	}
+}

@@ -6,7 +6,6 @@ import (
 	"testing"
 
 	"jackstay/api"
-	"jackstay/bits"
 	"jackstay/rows"
 	"jackstay/stuff"
 )
@@ -33,16 +32,8 @@ func wrongRuns() []api.Alike {
 	return l
 }
 
-// short yields all rows of at most 14 bits: as many as three stuff bits may need.
-func short(yield func(string) bool) {
-	for many := range 15 {
-		for n := range uint32(1) << many {
-			if !yield(rows.Text(bits.Of(n, many))) {
-				return
-			}
-		}
-	}
-}
+// short are the bits of short rows: as many as three stuff bits may need.
+const short = 14
 
 // five returns the kind of the last five bits of s, if they are equal.
 func five(s string) (byte, bool) {
@@ -141,7 +132,7 @@ func TestRunsThatAreNotRight(t *testing.T) {
 
 // A run tells the last bits of all that came, wrong ones among them.
 func TestRunsOfRows(t *testing.T) {
-	for s := range short {
+	for s := range rows.UpTo(short) {
 		var a api.Alike
 		for i := range len(s) {
 			before, _ := five(s[:i])
@@ -204,7 +195,7 @@ func TestPut(t *testing.T) {
 }
 
 func TestPutOfAllShortRows(t *testing.T) {
-	for s := range short {
+	for s := range rows.UpTo(short) {
 		if got := put(s); got != stuffed(s) {
 			t.Fatalf("Put(%q) is %q, not %q", s, got, stuffed(s))
 		}
@@ -256,7 +247,7 @@ func TestTake(t *testing.T) {
 }
 
 func TestTakeOfAllShortRows(t *testing.T) {
-	for s := range short {
+	for s := range rows.UpTo(short) {
 		want, wrong := taken(s)
 		if got, at := take(s); got != want || at != wrong {
 			t.Fatalf("Take(%q) is %q, %d, not %q, %d", s, got, at, want, wrong)
@@ -283,7 +274,7 @@ func TestTakeMeetsSixEqualBits(t *testing.T) {
 // P2.4
 
 func TestTakeReturnsWhatWasPut(t *testing.T) {
-	for s := range short {
+	for s := range rows.UpTo(short) {
 		wire := put(s)
 		if got, at := take(wire); got != s || at != -1 {
 			t.Fatalf("%q comes back from %q as %q, %d", s, wire, got, at)
