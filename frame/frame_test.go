@@ -1,7 +1,6 @@
 package frame_test
 
 import (
-	"bytes"
 	"slices"
 	"strings"
 	"testing"
@@ -11,6 +10,7 @@ import (
 	"jackstay/crc"
 	"jackstay/frame"
 	"jackstay/rows"
+	"jackstay/samples"
 	"jackstay/stuff"
 )
 
@@ -58,78 +58,15 @@ func body(t *testing.T, f api.Frame) string {
 	return rows.Text(l)
 }
 
-// same reports whether two frames are; no data are as good as nil.
-func same(a, b api.Frame) bool {
-	return a.ID == b.ID && a.Ext == b.Ext && a.Remote == b.Remote && a.Dlc == b.Dlc && bytes.Equal(a.Data, b.Data)
-}
-
-// data are so many bytes.
-func data(many int) []byte { return []byte("\xa5\x00\xff\x01\x80\x7e\x3c\x55\xaa\x11\x22")[:many] }
-
-// made is a frame with the data that it needs.
-func made(id uint32, ext, remote bool, dlc uint8) api.Frame {
-	f := api.Frame{ID: id, Ext: ext, Remote: remote, Dlc: dlc}
-	if !remote {
-		f.Data = data(int(min(dlc, 8)))
-	}
-	return f
-}
-
-// rightFrames are some of all kinds, with the least and the greatest IDs, base and
-// extended ones with the same upper bits, and every Dlc.
-func rightFrames() []api.Frame {
-	var l []api.Frame
-	for _, remote := range []bool{false, true} {
-		for dlc := range uint8(16) {
-			for _, id := range []uint32{0, 1, 5, 0x123, 0x400, 0x7fe, 0x7ff} {
-				l = append(l, made(id, false, remote, dlc))
-			}
-			for _, id := range []uint32{0, 1, 5, 0x7ff, 0x800, 1 << 17, 1<<18 - 1, 1 << 18, 5 << 18, 0x123<<18 | 0x2aaaa, 0x7ff << 18, 1 << 28, 1<<29 - 2, 1<<29 - 1} {
-				l = append(l, made(id, true, remote, dlc))
-			}
-		}
-	}
-	return l
-}
-
-// wrongFrames are some that are not right, each in one thing.
-func wrongFrames() []api.Frame {
-	l := []api.Frame{
-		{ID: 1 << 11}, {ID: 1<<11 + 5}, {ID: 1 << 18}, {ID: 1<<29 - 1}, {ID: 1<<32 - 1},
-		{ID: 1 << 29, Ext: true}, {ID: 1<<29 + 5, Ext: true}, {ID: 1<<32 - 1, Ext: true},
-		{ID: 1 << 11, Remote: true}, {ID: 1 << 29, Ext: true, Remote: true},
-	}
-	for _, ext := range []bool{false, true} {
-		for _, dlc := range []uint8{16, 17, 24, 128, 255} {
-			l = append(l, made(1, ext, false, dlc), made(1, ext, true, dlc))
-		}
-		for dlc := range uint8(16) {
-			f := made(1, ext, false, dlc)
-			for many := range 12 {
-				f.Data = data(many)
-				if many != int(min(dlc, 8)) {
-					l = append(l, f)
-				}
-			}
-			f.Remote = true
-			for many := 1; many < 12; many++ {
-				f.Data = data(many)
-				l = append(l, f)
-			}
-		}
-	}
-	return l
-}
-
 // P4.1
 
 func TestRight(t *testing.T) {
-	for _, f := range rightFrames() {
+	for _, f := range samples.Right() {
 		if !frame.Right(f) {
 			t.Errorf("%v is not right", f)
 		}
 	}
-	for _, f := range wrongFrames() {
+	for _, f := range samples.Wrong() {
 		if frame.Right(f) {
 			t.Errorf("%v is right", f)
 		}
@@ -150,10 +87,10 @@ func TestRightHangsOnTheID(t *testing.T) {
 		{1<<32 - 1, false, false},
 	} {
 		for _, remote := range []bool{false, true} {
-			if frame.Right(made(x.id, false, remote, 3)) != x.base {
+			if frame.Right(samples.Made(x.id, false, remote, 3)) != x.base {
 				t.Errorf("the base ID %#x, remote %v, is right: %v", x.id, remote, !x.base)
 			}
-			if frame.Right(made(x.id, true, remote, 3)) != x.ext {
+			if frame.Right(samples.Made(x.id, true, remote, 3)) != x.ext {
 				t.Errorf("the extended ID %#x, remote %v, is right: %v", x.id, remote, !x.ext)
 			}
 		}
@@ -182,7 +119,7 @@ func TestLong(t *testing.T) {
 	for dlc, many := range want {
 		for _, ext := range []bool{false, true} {
 			// What Data has does not count, nor does the ID.
-			for _, has := range [][]byte{nil, data(1), data(11)} {
+			for _, has := range [][]byte{nil, samples.Data(1), samples.Data(11)} {
 				f := api.Frame{ID: 1<<32 - 1, Ext: ext, Dlc: uint8(dlc), Data: has}
 				if n := frame.Long(f); n != many {
 					t.Errorf("Dlc %d means %d bytes, not %d", dlc, n, many)
@@ -216,7 +153,7 @@ func TestBody(t *testing.T) {
 }
 
 func TestBodyOfManyFrames(t *testing.T) {
-	for _, f := range rightFrames() {
+	for _, f := range samples.Right() {
 		if s := body(t, f); s != bodyOf(f) {
 			t.Errorf("Body(%v) is %q, not %q", f, s, bodyOf(f))
 		}
@@ -226,7 +163,7 @@ func TestBodyOfManyFrames(t *testing.T) {
 func TestBodyOfAllBaseIDs(t *testing.T) {
 	for id := range uint32(1 << 11) {
 		for _, remote := range []bool{false, true} {
-			f := made(id, false, remote, uint8(id%16))
+			f := samples.Made(id, false, remote, uint8(id%16))
 			if s := body(t, f); s != bodyOf(f) {
 				t.Fatalf("Body(%v) is %q, not %q", f, s, bodyOf(f))
 			}
@@ -238,7 +175,7 @@ func TestBodyOfAllBaseIDs(t *testing.T) {
 func TestBodyOfExtendedBits(t *testing.T) {
 	for place := range 29 {
 		for _, id := range []uint32{1 << place, api.MaxExt &^ (1 << place)} {
-			f := made(id, true, place%2 == 0, 3)
+			f := samples.Made(id, true, place%2 == 0, 3)
 			if s := body(t, f); s != bodyOf(f) {
 				t.Errorf("Body(%v) is %q, not %q", f, s, bodyOf(f))
 			}
@@ -269,7 +206,7 @@ func TestWire(t *testing.T) {
 
 func TestWireOfManyFrames(t *testing.T) {
 	const closing = "rrrrrrrrrr"
-	for _, f := range rightFrames() {
+	for _, f := range samples.Right() {
 		l, e := frame.Wire(f)
 		want := rows.Text(stuff.Put(rows.Of(bodyOf(f)))) + closing
 		if s := rows.Text(l); s != want || e != api.OK {
@@ -283,7 +220,7 @@ func TestWireOfManyFrames(t *testing.T) {
 }
 
 func TestFramesThatAreNotRight(t *testing.T) {
-	for _, f := range wrongFrames() {
+	for _, f := range samples.Wrong() {
 		if l, e := frame.Body(f); l != nil || e != api.ErrFrame {
 			t.Errorf("Body(%v) is %v, error %d", f, l, e)
 		}
@@ -356,7 +293,7 @@ func TestHead(t *testing.T) {
 
 // Head tells from just the head on how many bits the body has.
 func TestHeadOfAllBeginnings(t *testing.T) {
-	for _, f := range rightFrames() {
+	for _, f := range samples.Right() {
 		l, _ := frame.Body(f)
 		head := len(first(f) + behind(f))
 		for long := range len(l) + 1 {
@@ -399,7 +336,7 @@ func TestParse(t *testing.T) {
 		{"d rrdrdrdrrrr rr ddrrdrrrrdrrrrdrdr d dd ddrd ddddrrrrrddddddd rrddrrddddrrrrd", api.Frame{ID: 0x1abcdef5, Ext: true, Dlc: 2, Data: []byte{0x0f, 0x80}}},
 	} {
 		f, e := frame.Parse(rows.Of(strings.ReplaceAll(x.l, " ", "")))
-		if !same(f, x.want) || e != api.OK {
+		if !samples.Same(f, x.want) || e != api.OK {
 			t.Errorf("Parse(%q) is %v, error %d, not %v", x.l, f, e, x.want)
 		}
 	}
@@ -423,7 +360,7 @@ func TestParseOfFixedBits(t *testing.T) {
 	} {
 		s := strings.ReplaceAll(x.l, " ", "")
 		f, e := frame.Parse(rows.Of(summed(s)))
-		if !same(f, x.want) || e != api.OK {
+		if !samples.Same(f, x.want) || e != api.OK {
 			t.Errorf("Parse of %q and its sum is %v, error %d, not %v", s, f, e, x.want)
 		}
 	}
@@ -431,7 +368,7 @@ func TestParseOfFixedBits(t *testing.T) {
 
 // The fixed bits of frames of all kinds, one by one and all at once.
 func TestParseOfFixedBitsOfManyFrames(t *testing.T) {
-	for _, f := range rightFrames() {
+	for _, f := range samples.Right() {
 		fixed := []int{14}
 		if f.Ext {
 			fixed = []int{12, 33, 34}
@@ -445,7 +382,7 @@ func TestParseOfFixedBitsOfManyFrames(t *testing.T) {
 				}
 			}
 			got, e := frame.Parse(rows.Of(summed(rows.Text(other))))
-			if !same(got, f) || e != api.OK {
+			if !samples.Same(got, f) || e != api.OK {
 				t.Errorf("Parse of %v, with fixed bits inverted (%b), is %v, error %d", f, which, got, e)
 			}
 		}
@@ -453,12 +390,12 @@ func TestParseOfFixedBitsOfManyFrames(t *testing.T) {
 }
 
 func TestParseOfAFirstBitThatIsRecessive(t *testing.T) {
-	for _, f := range rightFrames() {
+	for _, f := range samples.Right() {
 		s := bodyOf(f)
 		turned := "r" + s[1:]
 		// With a check sum that is not right, and with one that is: ErrBits is first.
 		for _, l := range []string{turned, summed(turned[:len(s)-15])} {
-			if got, e := frame.Parse(rows.Of(l)); !same(got, api.Frame{}) || e != api.ErrBits {
+			if got, e := frame.Parse(rows.Of(l)); !samples.Same(got, api.Frame{}) || e != api.ErrBits {
 				t.Errorf("Parse(%q) is %v, error %d", l, got, e)
 			}
 		}
@@ -466,17 +403,17 @@ func TestParseOfAFirstBitThatIsRecessive(t *testing.T) {
 }
 
 func TestParseOfTooFewOrTooManyBits(t *testing.T) {
-	for _, f := range rightFrames() {
+	for _, f := range samples.Right() {
 		s := bodyOf(f)
 		for long := range len(s) {
-			if got, e := frame.Parse(rows.Of(s[:long])); !same(got, api.Frame{}) || e != api.ErrBits {
+			if got, e := frame.Parse(rows.Of(s[:long])); !samples.Same(got, api.Frame{}) || e != api.ErrBits {
 				t.Fatalf("Parse of %d bits of %v is %v, error %d", long, f, got, e)
 			}
 		}
 		for _, more := range []string{"d", "r", "dddddddd", strings.Repeat("r", 15), strings.Repeat("d", 200), s} {
 			// What is behind a body leaves the sum right if it is dominant.
 			for _, l := range []string{s + more, summed(s[:len(s)-15] + more)} {
-				if got, e := frame.Parse(rows.Of(l)); !same(got, api.Frame{}) || e != api.ErrBits {
+				if got, e := frame.Parse(rows.Of(l)); !samples.Same(got, api.Frame{}) || e != api.ErrBits {
 					t.Fatalf("Parse(%q) is %v, error %d", l, got, e)
 				}
 			}
@@ -486,7 +423,7 @@ func TestParseOfTooFewOrTooManyBits(t *testing.T) {
 
 // The check sum is looked at last, and all of its bits, and all bits before, count.
 func TestParseOfOtherCheckSums(t *testing.T) {
-	for _, f := range rightFrames() {
+	for _, f := range samples.Right() {
 		l := rows.Of(bodyOf(f))
 		for place := range l {
 			other := slices.Clone(l)
@@ -495,7 +432,7 @@ func TestParseOfOtherCheckSums(t *testing.T) {
 			if many, _ := frame.Head(other); place == 0 || many != len(l) {
 				want = api.ErrBits
 			}
-			if got, e := frame.Parse(other); !same(got, api.Frame{}) || e != want {
+			if got, e := frame.Parse(other); !samples.Same(got, api.Frame{}) || e != want {
 				t.Fatalf("Parse of %v with bit %d inverted is %v, error %d, not %d", f, place, got, e, want)
 			}
 		}
@@ -552,10 +489,10 @@ func TestBefore(t *testing.T) {
 		{ext(1<<18 - 1), ext(1 << 18), true, true},
 		{ext(1<<29 - 2), ext(1<<29 - 1), true, true},
 		// What is behind the first part does not count.
-		{made(5, false, false, 0), made(5, false, false, 8), false, false},
-		{made(5, false, true, 0), made(5, false, true, 15), false, false},
-		{made(5, true, false, 8), made(5, true, false, 9), false, false},
-		{made(5, false, false, 15), made(6, false, false, 0), true, true},
+		{samples.Made(5, false, false, 0), samples.Made(5, false, false, 8), false, false},
+		{samples.Made(5, false, true, 0), samples.Made(5, false, true, 15), false, false},
+		{samples.Made(5, true, false, 8), samples.Made(5, true, false, 9), false, false},
+		{samples.Made(5, false, false, 15), samples.Made(6, false, false, 0), true, true},
 	} {
 		if frame.Before(x.a, x.b) != x.one {
 			t.Errorf("%v is before %v: %v", x.a, x.b, !x.one)
@@ -568,7 +505,7 @@ func TestBefore(t *testing.T) {
 
 // Texts are ordered as arbitration is: d is below r.
 func TestBeforeOfManyFrames(t *testing.T) {
-	all := rightFrames()
+	all := samples.Right()
 	for _, a := range all {
 		for _, b := range all {
 			if want := first(a) < first(b); frame.Before(a, b) != want {
@@ -592,7 +529,7 @@ func left(one, other []bool) (bool, bool) {
 }
 
 func TestBeforeIsWhatTheBusDoes(t *testing.T) {
-	all := rightFrames()
+	all := samples.Right()
 	for _, a := range all {
 		for _, b := range all {
 			one, other := left(rows.Of(first(a)), rows.Of(first(b)))
@@ -605,7 +542,7 @@ func TestBeforeIsWhatTheBusDoes(t *testing.T) {
 
 func TestBeforeOfFramesThatAreNotRight(t *testing.T) {
 	least, greatest := api.Frame{}, api.Frame{ID: api.MaxExt, Ext: true, Remote: true}
-	for _, f := range wrongFrames() {
+	for _, f := range samples.Wrong() {
 		for _, right := range []api.Frame{least, greatest} {
 			if frame.Before(f, right) || frame.Before(right, f) {
 				t.Errorf("of %v and %v one is before", f, right)
@@ -620,13 +557,13 @@ func TestBeforeOfFramesThatAreNotRight(t *testing.T) {
 // P4.5
 
 func TestParseReturnsWhatBodyIsOf(t *testing.T) {
-	for _, f := range rightFrames() {
+	for _, f := range samples.Right() {
 		l, e := frame.Body(f)
 		if e != api.OK {
 			t.Fatalf("Body(%v) is error %d", f, e)
 		}
 		got, e := frame.Parse(l)
-		if !same(got, f) || e != api.OK {
+		if !samples.Same(got, f) || e != api.OK {
 			t.Errorf("%v comes back as %v, error %d", f, got, e)
 		}
 	}
@@ -635,16 +572,16 @@ func TestParseReturnsWhatBodyIsOf(t *testing.T) {
 func TestAllIDsComeBack(t *testing.T) {
 	back := func(f api.Frame) {
 		l, _ := frame.Body(f)
-		if got, e := frame.Parse(l); !same(got, f) || e != api.OK {
+		if got, e := frame.Parse(l); !samples.Same(got, f) || e != api.OK {
 			t.Fatalf("%v comes back as %v, error %d", f, got, e)
 		}
 	}
 	for id := range uint32(1 << 11) {
-		back(made(id, false, id%3 == 0, uint8(id%16)))
+		back(samples.Made(id, false, id%3 == 0, uint8(id%16)))
 	}
 	// The step is odd, and so meets all places of an ID.
 	for id := uint32(0); id <= api.MaxExt; id += 0x15b3d {
-		back(made(id, true, id%3 == 0, uint8(id%16)))
+		back(samples.Made(id, true, id%3 == 0, uint8(id%16)))
 	}
 }
 
@@ -654,7 +591,7 @@ func TestAllBytesComeBack(t *testing.T) {
 			f := api.Frame{ID: 5, Dlc: 8, Data: make([]byte, 8)}
 			f.Data[place] = byte(n)
 			l, _ := frame.Body(f)
-			if got, e := frame.Parse(l); !same(got, f) || e != api.OK {
+			if got, e := frame.Parse(l); !samples.Same(got, f) || e != api.OK {
 				t.Fatalf("%v comes back as %v, error %d", f, got, e)
 			}
 		}
@@ -662,17 +599,17 @@ func TestAllBytesComeBack(t *testing.T) {
 }
 
 func TestBodiesDiffer(t *testing.T) {
-	all := rightFrames()
+	all := samples.Right()
 	for id := range uint32(1 << 11) {
-		all = append(all, made(id, false, true, 7), made(id, false, false, 1), api.Frame{ID: id, Dlc: 1, Data: []byte{byte(id)}})
+		all = append(all, samples.Made(id, false, true, 7), samples.Made(id, false, false, 1), api.Frame{ID: id, Dlc: 1, Data: []byte{byte(id)}})
 	}
 	for place := range 29 {
-		all = append(all, made(1<<place, true, false, 0), made(1<<place, true, true, 0))
+		all = append(all, samples.Made(1<<place, true, false, 0), samples.Made(1<<place, true, true, 0))
 	}
 	met := map[string]api.Frame{}
 	for _, f := range all {
 		s := body(t, f)
-		if other, is := met[s]; is && !same(other, f) {
+		if other, is := met[s]; is && !samples.Same(other, f) {
 			t.Fatalf("%v and %v have the same body", f, other)
 		}
 		met[s] = f
@@ -681,7 +618,7 @@ func TestBodiesDiffer(t *testing.T) {
 
 // Of two frames one wins, and not both, unless their first parts are the same.
 func TestAtMostOneWins(t *testing.T) {
-	all := rightFrames()
+	all := samples.Right()
 	for _, a := range all {
 		for _, b := range all {
 			one, other := frame.Before(a, b), frame.Before(b, a)

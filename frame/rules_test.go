@@ -9,6 +9,7 @@ import (
 	"jackstay/bits"
 	"jackstay/frame"
 	"jackstay/rows"
+	"jackstay/samples"
 )
 
 // The rules that hold everywhere, R1 to R7, as far as they touch this layer. It has
@@ -36,7 +37,7 @@ func checkRow(t *testing.T, l []bool) {
 		t.Fatalf("Head(%q) is %d, %v", rows.Text(l), many, known)
 	}
 	f, e := frame.Parse(l)
-	if e != api.OK && !same(f, api.Frame{}) {
+	if e != api.OK && !samples.Same(f, api.Frame{}) {
 		t.Fatalf("Parse(%q) is %v beside error %d", rows.Text(l), f, e)
 	}
 	if e == api.OK && (!frame.Right(f) || many != len(l)) {
@@ -79,7 +80,7 @@ func TestLongRows(t *testing.T) {
 	if many, known := frame.Head(l); many != 34 || !known {
 		t.Errorf("Head is %d, %v", many, known)
 	}
-	if f, e := frame.Parse(l); !same(f, api.Frame{}) || e != api.ErrBits {
+	if f, e := frame.Parse(l); !samples.Same(f, api.Frame{}) || e != api.ErrBits {
 		t.Errorf("Parse is %v, error %d", f, e)
 	}
 	f := api.Frame{Dlc: 15, Data: make([]byte, 1<<20)}
@@ -90,7 +91,7 @@ func TestLongRows(t *testing.T) {
 
 // R3: bits and data of an argument, and what is behind their ends, stay as they are.
 func TestArgumentsStayAsTheyAre(t *testing.T) {
-	f := api.Frame{ID: 1, Ext: true, Dlc: 9, Data: data(8)}
+	f := api.Frame{ID: 1, Ext: true, Dlc: 9, Data: samples.Data(8)}
 	l := rows.Of(bodyOf(f))
 	whole := append(slices.Clone(l), l...)
 	before := slices.Clone(whole)
@@ -101,14 +102,14 @@ func TestArgumentsStayAsTheyAre(t *testing.T) {
 			t.Fatalf("%d bits have changed", long)
 		}
 	}
-	room := data(11)
+	room := samples.Data(11)
 	f.Data = room[:8]
 	frame.Right(f)
 	frame.Long(f)
 	frame.Body(f)
 	frame.Wire(f)
 	frame.Before(f, f)
-	if !slices.Equal(room, data(11)) {
+	if !slices.Equal(room, samples.Data(11)) {
 		t.Errorf("the data have become %v", room)
 	}
 }
@@ -117,7 +118,7 @@ func TestArgumentsStayAsTheyAre(t *testing.T) {
 // is the same whatever becomes of the arguments.
 func TestResultsAreNew(t *testing.T) {
 	for name, call := range map[string]func(api.Frame) ([]bool, api.Errno){"Body": frame.Body, "Wire": frame.Wire} {
-		for _, f := range rightFrames() {
+		for _, f := range samples.Right() {
 			f.Data = slices.Clone(f.Data)
 			one, _ := call(f)
 			other, _ := call(f)
@@ -129,13 +130,13 @@ func TestResultsAreNew(t *testing.T) {
 			}
 		}
 	}
-	for _, f := range rightFrames() {
+	for _, f := range samples.Right() {
 		l := rows.Of(bodyOf(f))
 		one, _ := frame.Parse(l)
 		other, _ := frame.Parse(l)
 		clear(one.Data[:cap(one.Data)])
 		rows.Turn(l)
-		if !same(other, f) {
+		if !samples.Same(other, f) {
 			t.Fatalf("results of Parse share memory: %v has become %v", f, other)
 		}
 	}
@@ -146,14 +147,14 @@ func TestResultsHangOnArgumentsAlone(t *testing.T) {
 	f := api.Frame{ID: 0x123, Dlc: 1, Data: []byte{0xaa}}
 	want := bodyOf(f)
 	for round := range 3 {
-		for _, other := range wrongFrames() {
+		for _, other := range samples.Wrong() {
 			frame.Wire(other)
 		}
 		if s := body(t, f); s != want {
 			t.Errorf("round %d: Body is %q", round, s)
 		}
 		frame.Parse(rows.Of(want[:41]))
-		if got, e := frame.Parse(rows.Of(want)); !same(got, f) || e != api.OK {
+		if got, e := frame.Parse(rows.Of(want)); !samples.Same(got, f) || e != api.OK {
 			t.Errorf("round %d: Parse is %v, error %d", round, got, e)
 		}
 		if many, known := frame.Head(rows.Of(want[:19])); many != 42 || !known {
@@ -168,16 +169,16 @@ func TestResultsHangOnArgumentsAlone(t *testing.T) {
 // R4: nor on a capacity.
 func TestCapacityDoesNotMatter(t *testing.T) {
 	f := api.Frame{ID: 0x123, Dlc: 1, Data: []byte{0xaa}}
-	whole := append(rows.Of(bodyOf(f)), bits.OfBytes(data(8))...)
+	whole := append(rows.Of(bodyOf(f)), bits.OfBytes(samples.Data(8))...)
 	for _, l := range [][]bool{whole[:42], whole[:42:42]} {
-		if got, e := frame.Parse(l); !same(got, f) || e != api.OK {
+		if got, e := frame.Parse(l); !samples.Same(got, f) || e != api.OK {
 			t.Errorf("with the capacity %d Parse is %v, error %d", cap(l), got, e)
 		}
 		if many, known := frame.Head(l[:18]); many != 0 || known {
 			t.Errorf("with the capacity %d Head is %d, %v", cap(l), many, known)
 		}
 	}
-	room := data(11)
+	room := samples.Data(11)
 	room[0] = 0xaa
 	f.Data = room[:1]
 	if s := body(t, f); s != rows.Text(whole[:42]) {
@@ -187,13 +188,13 @@ func TestCapacityDoesNotMatter(t *testing.T) {
 
 // R6: no data are as good as nil, and so are no bits.
 func TestEmptyIsNil(t *testing.T) {
-	for _, has := range [][]byte{nil, {}, data(8)[:0]} {
+	for _, has := range [][]byte{nil, {}, samples.Data(8)[:0]} {
 		for _, f := range []api.Frame{{ID: 5, Data: has}, {ID: 5, Remote: true, Dlc: 8, Data: has}, {ID: 5, Ext: true, Data: has}} {
 			if !frame.Right(f) {
 				t.Errorf("%v, with data that are nil %v, is not right", f, has == nil)
 			}
 			s := body(t, f)
-			if got, e := frame.Parse(rows.Of(s)); len(got.Data) != 0 || !same(got, f) || e != api.OK {
+			if got, e := frame.Parse(rows.Of(s)); len(got.Data) != 0 || !samples.Same(got, f) || e != api.OK {
 				t.Errorf("Parse is %v, error %d, not %v", got, e, f)
 			}
 		}
@@ -202,7 +203,7 @@ func TestEmptyIsNil(t *testing.T) {
 		if many, known := frame.Head(l); many != 0 || known {
 			t.Errorf("Head of no bits, nil %v, is %d, %v", l == nil, many, known)
 		}
-		if f, e := frame.Parse(l); !same(f, api.Frame{}) || e != api.ErrBits {
+		if f, e := frame.Parse(l); !samples.Same(f, api.Frame{}) || e != api.ErrBits {
 			t.Errorf("Parse of no bits, nil %v, is %v, error %d", l == nil, f, e)
 		}
 	}

@@ -1,0 +1,72 @@
+// Package samples has frames for the tests of all layers: right ones of all kinds,
+// and some that are not right. It is for tests alone.
+package samples
+
+import (
+	"bytes"
+
+	"jackstay/api"
+)
+
+// Same reports whether two frames are; no data are as good as nil.
+func Same(a, b api.Frame) bool {
+	return a.ID == b.ID && a.Ext == b.Ext && a.Remote == b.Remote && a.Dlc == b.Dlc && bytes.Equal(a.Data, b.Data)
+}
+
+// Data are so many bytes, 11 at most.
+func Data(many int) []byte { return []byte("\xa5\x00\xff\x01\x80\x7e\x3c\x55\xaa\x11\x22")[:many] }
+
+// Made is a frame with the data that it needs.
+func Made(id uint32, ext, remote bool, dlc uint8) api.Frame {
+	f := api.Frame{ID: id, Ext: ext, Remote: remote, Dlc: dlc}
+	if !remote {
+		f.Data = Data(int(min(dlc, 8)))
+	}
+	return f
+}
+
+// Right are some right frames of all kinds, with the least and the greatest IDs, base
+// and extended ones with the same upper bits, and every Dlc.
+func Right() []api.Frame {
+	var l []api.Frame
+	for _, remote := range []bool{false, true} {
+		for dlc := range uint8(16) {
+			for _, id := range []uint32{0, 1, 5, 0x123, 0x400, 0x7fe, 0x7ff} {
+				l = append(l, Made(id, false, remote, dlc))
+			}
+			for _, id := range []uint32{0, 1, 5, 0x7ff, 0x800, 1 << 17, 1<<18 - 1, 1 << 18, 5 << 18, 0x123<<18 | 0x2aaaa, 0x7ff << 18, 1 << 28, 1<<29 - 2, 1<<29 - 1} {
+				l = append(l, Made(id, true, remote, dlc))
+			}
+		}
+	}
+	return l
+}
+
+// Wrong are some frames that are not right, each in one thing.
+func Wrong() []api.Frame {
+	l := []api.Frame{
+		{ID: 1 << 11}, {ID: 1<<11 + 5}, {ID: 1 << 18}, {ID: 1<<29 - 1}, {ID: 1<<32 - 1},
+		{ID: 1 << 29, Ext: true}, {ID: 1<<29 + 5, Ext: true}, {ID: 1<<32 - 1, Ext: true},
+		{ID: 1 << 11, Remote: true}, {ID: 1 << 29, Ext: true, Remote: true},
+	}
+	for _, ext := range []bool{false, true} {
+		for _, dlc := range []uint8{16, 17, 24, 128, 255} {
+			l = append(l, Made(1, ext, false, dlc), Made(1, ext, true, dlc))
+		}
+		for dlc := range uint8(16) {
+			f := Made(1, ext, false, dlc)
+			for many := range 12 {
+				f.Data = Data(many)
+				if many != int(min(dlc, 8)) {
+					l = append(l, f)
+				}
+			}
+			f.Remote = true
+			for many := 1; many < 12; many++ {
+				f.Data = Data(many)
+				l = append(l, f)
+			}
+		}
+	}
+	return l
+}
