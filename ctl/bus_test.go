@@ -41,7 +41,7 @@ func (b *bus) step(turned ...int) {
 	for i, c := range b.l {
 		next, h := ctl.Step(c, bit != slices.Contains(turned, i))
 		b.l[i] = next
-		b.told[i] += letters[h.What : h.What+1]
+		b.told[i] += samples.Letters[h.What : h.What+1]
 		switch h.What {
 		case api.HapSent:
 			b.sent[i] = append(b.sent[i], h.Frame)
@@ -85,14 +85,14 @@ func TestOffIsRecessive(t *testing.T) {
 func TestSendersThatAreAlone(t *testing.T) {
 	for _, f := range samples.Right() {
 		b := newBus(given(t, api.Ctl{}, f))
-		s := wire(t, f)
+		s := samples.Wire(f)
 		b.steps(len(s) - 8)
 		if b.told[0] != many("-", len(s)-9)+"a" || b.row != s[:len(s)-8] {
 			t.Fatalf("%v, alone, is told %q, with %q on the bus", f, b.told[0], b.row)
 		}
 	}
 	b := newBus(given(t, api.Ctl{}, own))
-	s := wire(t, own)
+	s := samples.Wire(own)
 	active := s[:len(s)-8] + "dddddd" + many("r", 11)
 	passive := s[:len(s)-8] + "rrrrrr" + many("r", 19)
 	for range 16 {
@@ -124,13 +124,13 @@ func TestSendersThatAreAlone(t *testing.T) {
 // frame as if it were alone; all others take it; then comes the other one's.
 func TestTwoSenders(t *testing.T) {
 	met := 0
-	for i, f := range some() {
-		for k, g := range some() {
+	for i, f := range samples.Some() {
+		for k, g := range samples.Some() {
 			if !frame.Before(f, g) {
 				continue
 			}
 			met++
-			first, second := acked(wire(t, f)), acked(wire(t, g))
+			first, second := samples.Acked(samples.Wire(f)), samples.Acked(samples.Wire(g))
 			b := newBus(given(t, api.Ctl{}, f), given(t, api.Ctl{}, g), api.Ctl{})
 			b.steps(len(first))
 			if b.row != first || b.told[0] != many("-", len(first)-1)+"s" || !are(b.sent[0], f) {
@@ -170,7 +170,7 @@ func TestManySenders(t *testing.T) {
 		b := newBus(append(l, api.Ctl{})...)
 		want := ""
 		for _, f := range frames {
-			want += acked(wire(t, f)) + "rrr"
+			want += samples.Acked(samples.Wire(f)) + "rrr"
 		}
 		b.steps(len(want))
 		if b.row != want || !are(b.taken[len(l)], frames...) {
@@ -182,8 +182,8 @@ func TestManySenders(t *testing.T) {
 // A receiver has an error at the last bit but one: it alone does not take the frame; at
 // the last bit its flag is an error for the sender, and late for the others.
 func TestErrorAtTheLastBitButOne(t *testing.T) {
-	for _, f := range some() {
-		s := acked(wire(t, f))
+	for _, f := range samples.Some() {
+		s := samples.Acked(samples.Wire(f))
 		b := newBus(given(t, api.Ctl{}, f), api.Ctl{}, api.Ctl{})
 		b.steps(len(s) - 2)
 		b.step(1)
@@ -208,7 +208,7 @@ func TestErrorAtTheLastBitButOne(t *testing.T) {
 // one meets dominant bits behind its own.
 func TestErrorsOfOneReceiver(t *testing.T) {
 	f := own
-	s := acked(wire(t, f))
+	s := samples.Acked(samples.Wire(f))
 	for _, x := range []struct {
 		at   int      // the bit that is inverted
 		told []string // from there on

@@ -10,9 +10,8 @@ import (
 
 // places are controllers of all phases, each with a frame that it may be given, or may
 // drop, unless it sends one.
-func places(t *testing.T) map[string]api.Ctl {
-	t.Helper()
-	s := wire(t, api.Frame{ID: 1})
+func places() map[string]api.Ctl {
+	s := samples.Wire(api.Frame{ID: 1})
 	return map[string]api.Ctl{
 		"idle":          {},
 		"reading":       after(api.Ctl{}, s[:20]),
@@ -32,12 +31,12 @@ func places(t *testing.T) map[string]api.Ctl {
 // P8.1
 
 func TestGive(t *testing.T) {
-	for what, c := range places(t) {
+	for what, c := range places() {
 		for _, f := range samples.Right() {
 			got, e := ctl.Give(c, f)
 			want := c
 			want.Has, want.Give = true, f
-			if e != api.OK || !same(got, want) {
+			if e != api.OK || !samples.SameCtl(got, want) {
 				t.Fatalf("%s: Give of %v is %+v, error %d", what, f, got, e)
 			}
 		}
@@ -45,13 +44,13 @@ func TestGive(t *testing.T) {
 }
 
 func TestGiveOfWrongFrames(t *testing.T) {
-	for what, c := range places(t) {
+	for what, c := range places() {
 		for _, f := range samples.Wrong() {
-			if got, e := ctl.Give(c, f); e != api.ErrFrame || !same(got, api.Ctl{}) {
+			if got, e := ctl.Give(c, f); e != api.ErrFrame || !samples.SameCtl(got, api.Ctl{}) {
 				t.Fatalf("%s: Give of %v is %+v, error %d", what, f, got, e)
 			}
 			// Of two errors the first one is told.
-			if got, e := ctl.Give(given(t, c, api.Frame{ID: 5}), f); e != api.ErrFrame || !same(got, api.Ctl{}) {
+			if got, e := ctl.Give(given(t, c, api.Frame{ID: 5}), f); e != api.ErrFrame || !samples.SameCtl(got, api.Ctl{}) {
 				t.Fatalf("%s, with a frame: Give of %v is %+v, error %d", what, f, got, e)
 			}
 		}
@@ -59,10 +58,10 @@ func TestGiveOfWrongFrames(t *testing.T) {
 }
 
 func TestGiveOfASecondFrame(t *testing.T) {
-	for what, c := range places(t) {
+	for what, c := range places() {
 		c = given(t, c, api.Frame{ID: 5})
 		for _, f := range []api.Frame{{ID: 5}, {}, {ID: 4, Dlc: 1, Data: []byte{1}}} {
-			if got, e := ctl.Give(c, f); e != api.ErrFull || !same(got, api.Ctl{}) {
+			if got, e := ctl.Give(c, f); e != api.ErrFull || !samples.SameCtl(got, api.Ctl{}) {
 				t.Errorf("%s: a second Give is %+v, error %d", what, got, e)
 			}
 		}
@@ -70,11 +69,11 @@ func TestGiveOfASecondFrame(t *testing.T) {
 }
 
 func TestDrop(t *testing.T) {
-	for what, c := range places(t) {
-		if got, ok := ctl.Drop(c); ok || !same(got, c) {
+	for what, c := range places() {
+		if got, ok := ctl.Drop(c); ok || !samples.SameCtl(got, c) {
 			t.Errorf("%s: Drop without a frame is %+v, %v", what, got, ok)
 		}
-		if got, ok := ctl.Drop(given(t, c, samples.Made(5, true, false, 8))); !ok || !same(got, c) {
+		if got, ok := ctl.Drop(given(t, c, samples.Made(5, true, false, 8))); !ok || !samples.SameCtl(got, c) {
 			t.Errorf("%s: Drop is %+v, %v", what, got, ok)
 		}
 	}
@@ -82,8 +81,8 @@ func TestDrop(t *testing.T) {
 
 // A frame is not dropped as long as it is sent, from its second bit on.
 func TestDropWhileSending(t *testing.T) {
-	for _, f := range some() {
-		s := acked(wire(t, f))
+	for _, f := range samples.Some() {
+		s := samples.Acked(samples.Wire(f))
 		c := given(t, api.Ctl{}, f)
 		for long := range len(s) {
 			got, ok := ctl.Drop(c)
@@ -91,12 +90,12 @@ func TestDropWhileSending(t *testing.T) {
 			if long == 0 {
 				want = api.Ctl{}
 			}
-			if ok != (long == 0) || !same(got, want) {
+			if ok != (long == 0) || !samples.SameCtl(got, want) {
 				t.Fatalf("behind %d bits of %v Drop is %+v, %v", long, f, got, ok)
 			}
 			c = after(c, s[long:long+1])
 		}
-		if got, ok := ctl.Drop(c); ok || !same(got, c) {
+		if got, ok := ctl.Drop(c); ok || !samples.SameCtl(got, c) {
 			t.Fatalf("behind %v Drop is %+v, %v", f, got, ok)
 		}
 	}
@@ -116,7 +115,7 @@ func TestDropBehindErrors(t *testing.T) {
 		got := after(c, s)
 		want := got
 		want.Has, want.Give = false, api.Frame{}
-		if without, ok := ctl.Drop(got); !got.Has || !ok || !same(without, want) {
+		if without, ok := ctl.Drop(got); !got.Has || !ok || !samples.SameCtl(without, want) {
 			t.Errorf("behind %s Drop is %+v, %v", what, without, ok)
 		}
 	}
@@ -130,7 +129,7 @@ func TestDrive(t *testing.T) {
 		"in a flag": true, "in a weak one": false, "overloaded": true, "waiting": false,
 		"delimiting": false, "between": false, "holding back": false, "off": false,
 	} {
-		c, ok := places(t)[what]
+		c, ok := places()[what]
 		if !ok || ctl.Drive(c) == dominant {
 			t.Errorf("%s: Drive is %v", what, dominant)
 		}
@@ -144,8 +143,8 @@ func TestDrive(t *testing.T) {
 // A sender drives its wire form, bit by bit.
 func TestDriveOfSenders(t *testing.T) {
 	for _, f := range samples.Right() {
-		s := wire(t, f)
-		if got := driven(given(t, api.Ctl{}, f), acked(s)); got != s {
+		s := samples.Wire(f)
+		if got := driven(given(t, api.Ctl{}, f), samples.Acked(s)); got != s {
 			t.Fatalf("of %v %q is driven, not %q", f, got, s)
 		}
 	}
@@ -154,7 +153,7 @@ func TestDriveOfSenders(t *testing.T) {
 // A receiver drives nothing but the acknowledgement.
 func TestDriveOfReceivers(t *testing.T) {
 	for _, f := range samples.Right() {
-		s := acked(wire(t, f))
+		s := samples.Acked(samples.Wire(f))
 		if got, want := driven(api.Ctl{}, s), many("r", len(s)-9)+"d"+many("r", 8); got != want {
 			t.Fatalf("of %v %q is driven, not %q", f, got, want)
 		}
@@ -164,7 +163,7 @@ func TestDriveOfReceivers(t *testing.T) {
 // The chapter's examples.
 func TestExamples(t *testing.T) {
 	f := api.Frame{ID: 1}
-	s := wire(t, f)
+	s := samples.Wire(f)
 	c := given(t, api.Ctl{}, f)
 	if ctl.Drive(c) || after(c, "d").Phase != api.PhaseFrame {
 		t.Errorf("with a frame it drives %v, and becomes %+v", ctl.Drive(c), after(c, "d"))

@@ -24,10 +24,10 @@ func reads(from api.Ctl, s string) api.Ctl {
 }
 
 // sends is a controller that sends its frame, behind the bits of s.
-func sends(t *testing.T, from api.Ctl, s string) api.Ctl {
+func sends(from api.Ctl, s string) api.Ctl {
 	c := reads(from, s)
 	c.Sends, c.Sender, c.At = true, true, len(s)
-	c.Wire = rows.Of(wire(t, from.Give))
+	c.Wire = rows.Of(samples.Wire(from.Give))
 	return c
 }
 
@@ -40,7 +40,7 @@ func letter(from api.Ctl, s string) (api.Ctl, string) {
 // A frame is read to its end, and taken with the last bit but one: every state of it.
 func TestReading(t *testing.T) {
 	for i, f := range samples.Right() {
-		s := acked(wire(t, f))
+		s := samples.Acked(samples.Wire(f))
 		from := with(api.Ctl{Error: i%2 == 0}, 5, 9)
 		if i%3 == 0 {
 			from = given(t, from, own)
@@ -60,7 +60,7 @@ func TestReading(t *testing.T) {
 			case len(s) - 1:
 				want.Phase, want.Take = api.PhaseInter, api.Taking{}
 			}
-			if h.What != says || !samples.Same(h.Frame, taken) || !same(next, want) {
+			if h.What != says || !samples.Same(h.Frame, taken) || !samples.SameCtl(next, want) {
 				t.Fatalf("behind bit %d of %d of %v it is told %v, and is\n%+v, not\n%+v", k, len(s), f, h, next, want)
 			}
 			c = next
@@ -70,7 +70,7 @@ func TestReading(t *testing.T) {
 
 // What a frame that is taken makes of the counters.
 func TestTookCounts(t *testing.T) {
-	s := acked(wire(t, other))
+	s := samples.Acked(samples.Wire(other))
 	for before, after := range map[int]int{0: 0, 1: 0, 2: 1, 119: 118, 127: 126, 128: 119, 200: 119, 255: 119} {
 		for _, tec := range []int{0, 100, 255} {
 			got, said := run(with(api.Ctl{}, tec, before), s[:len(s)-1])
@@ -82,8 +82,8 @@ func TestTookCounts(t *testing.T) {
 
 // The acknowledgement that is driven is not sampled: an error of who drove it.
 func TestReadingUnheard(t *testing.T) {
-	for _, f := range some() {
-		s := wire(t, f)
+	for _, f := range samples.Some() {
+		s := samples.Wire(f)
 		for _, now := range counters() {
 			from := given(t, api.Ctl{Conf: now, Error: true}, own)
 			want, says := failed(from, now, more(now, 0, 1), "b")
@@ -97,7 +97,7 @@ func TestReadingUnheard(t *testing.T) {
 
 // Each error of a frame that is read, of controllers of all kinds.
 func TestReadingErrors(t *testing.T) {
-	s := acked(wire(t, other))
+	s := samples.Acked(samples.Wire(other))
 	body := len(s) - 10
 	bad, _ := frame.Body(other)
 	bad[len(bad)-2] = !bad[len(bad)-2]
@@ -132,7 +132,7 @@ func TestReadingErrors(t *testing.T) {
 // With another check sum nothing is acknowledged, and what is sampled in the slot does
 // not matter.
 func TestReadingAnotherCheckSum(t *testing.T) {
-	for _, f := range some() {
+	for _, f := range samples.Some() {
 		body, _ := frame.Body(f)
 		body[len(body)-1] = !body[len(body)-1]
 		s := rows.Text(stuff.Put(body))
@@ -150,13 +150,13 @@ func TestReadingAnotherCheckSum(t *testing.T) {
 // The last bit is late for those that read: they have taken the frame, and it is no
 // error.
 func TestReadingTheLastBit(t *testing.T) {
-	for _, f := range some() {
-		s := acked(wire(t, f))
+	for _, f := range samples.Some() {
+		s := samples.Acked(samples.Wire(f))
 		for _, now := range counters() {
 			from := api.Ctl{Conf: now, Error: true}
 			took := after(from, s[:len(s)-1])
 			want := api.Ctl{Phase: api.PhaseOver, Conf: took.Conf}
-			got, said := run(from, turned(s, len(s)-1))
+			got, said := run(from, rows.Turned(s, len(s)-1))
 			check(t, fmt.Sprintf("%v with %v, and a dominant last bit", f, now), got, said, want, many("-", len(s)-2)+"to")
 			if ctl.Drive(got) {
 				t.Error("the overload flag is not driven")
@@ -168,18 +168,18 @@ func TestReadingTheLastBit(t *testing.T) {
 // A frame is sent to its end: every state of it.
 func TestSending(t *testing.T) {
 	for i, f := range samples.Right() {
-		s := acked(wire(t, f))
+		s := samples.Acked(samples.Wire(f))
 		from := given(t, with(api.Ctl{Error: i%2 == 0}, 9, 5), f)
 		c := from
 		for k := range len(s) {
 			next, h := ctl.Step(c, s[k] == 'r')
-			want := sends(t, from, s[:k+1])
+			want := sends(from, s[:k+1])
 			says, sent := api.HapNone, api.Frame{}
 			if k == len(s)-1 {
 				says, sent = api.HapSent, f
 				want = api.Ctl{Phase: api.PhaseInter, Conf: api.Conf{TEC: 8, REC: 5}, Sender: true, Error: from.Error}
 			}
-			if h.What != says || !samples.Same(h.Frame, sent) || !same(next, want) {
+			if h.What != says || !samples.Same(h.Frame, sent) || !samples.SameCtl(next, want) {
 				t.Fatalf("behind bit %d of %d of %v it is told %v, and is\n%+v, not\n%+v", k, len(s), f, h, next, want)
 			}
 			c = next
@@ -189,7 +189,7 @@ func TestSending(t *testing.T) {
 
 // What a frame that is sent makes of the counters.
 func TestSentCounts(t *testing.T) {
-	s := acked(wire(t, own))
+	s := samples.Acked(samples.Wire(own))
 	for before, after := range map[int]int{0: 0, 1: 0, 2: 1, 128: 127, 129: 128, 255: 254} {
 		for _, rec := range []int{0, 100, 255} {
 			got, said := run(given(t, with(api.Ctl{}, before, rec), own), s)
@@ -205,8 +205,8 @@ type place struct{ contest, stuffed, slot bool }
 // placesOf are the places of the bits of the wire form of f, told by how long its parts
 // are on the wire: those behind the start that decide the arbitration, up to the remote
 // bit, and whether there are five equal bits ahead.
-func placesOf(t *testing.T, f api.Frame) []place {
-	s := wire(t, f)
+func placesOf(f api.Frame) []place {
+	s := samples.Wire(f)
 	body, _ := frame.Body(f)
 	decides := 13
 	if f.Ext {
@@ -231,11 +231,11 @@ func TestSendingEveryBitTurned(t *testing.T) {
 			if n%len(counters()) != i {
 				continue
 			}
-			s := acked(wire(t, f))
+			s := samples.Acked(samples.Wire(f))
 			from := given(t, api.Ctl{Conf: now, Error: n%2 == 0}, f)
-			as := sends(t, from, "d")
-			plain := wire(t, f)
-			for k, p := range placesOf(t, f) {
+			as := sends(from, "d")
+			plain := samples.Wire(f)
+			for k, p := range placesOf(f) {
 				if k == 0 || p.slot {
 					continue
 				}
@@ -248,8 +248,8 @@ func TestSendingEveryBitTurned(t *testing.T) {
 				case plain[k] == 'r' && p.contest:
 					want, says = reads(from, s[:k]+"d"), "l"
 				}
-				got, said := letter(from, turned(s[:k+1], k))
-				if said != says || !same(got, want) {
+				got, said := letter(from, rows.Turned(s[:k+1], k))
+				if said != says || !samples.SameCtl(got, want) {
 					t.Fatalf("%v with %v, its bit %d turned: it is told %q, not %q, and is\n%+v, not\n%+v", f, now, k, said, says, got, want)
 				}
 				met[says]++
@@ -327,7 +327,7 @@ func TestStuffBitsInArbitration(t *testing.T) {
 					want.Conf.TEC += 8
 				}
 			}
-			if !same(got, want) {
+			if !samples.SameCtl(got, want) {
 				t.Errorf("%v by the last bit of %q is\n%+v, not\n%+v", x.f, x.bits, got, want)
 			}
 		}
@@ -345,7 +345,7 @@ func TestLosing(t *testing.T) {
 		{{ID: 5 << 18, Ext: true}, {ID: 5 << 18, Ext: true, Remote: true}},
 	} {
 		winner, loser := x[0], x[1]
-		s, mine := acked(wire(t, winner)), acked(wire(t, loser))
+		s, mine := samples.Acked(samples.Wire(winner)), samples.Acked(samples.Wire(loser))
 		lost := 0
 		for s[lost] == mine[lost] {
 			lost++
@@ -368,17 +368,17 @@ func TestLosing(t *testing.T) {
 
 // The last bit of a frame is an error for its sender, which sends it again.
 func TestSendingTheLastBit(t *testing.T) {
-	for _, f := range some() {
-		s := acked(wire(t, f))
+	for _, f := range samples.Some() {
+		s := samples.Acked(samples.Wire(f))
 		for _, now := range counters() {
 			from := given(t, api.Ctl{Conf: now}, f)
 			as := from
 			as.Sender = true
 			want, says := failed(as, now, more(now, 8, 0), "b")
-			got, said := run(from, turned(s, len(s)-1))
+			got, said := run(from, rows.Turned(s, len(s)-1))
 			check(t, fmt.Sprintf("%v with %v, and a dominant last bit", f, now), got, said, want, many("-", len(s)-1)+says)
 		}
-		got, said := run(given(t, api.Ctl{}, f), turned(s, len(s)-1)+"......"+many("r", 11)+s)
+		got, said := run(given(t, api.Ctl{}, f), rows.Turned(s, len(s)-1)+"......"+many("r", 11)+s)
 		want := api.Ctl{Phase: api.PhaseInter, Conf: api.Conf{TEC: 7}, Sender: true, Error: true}
 		check(t, fmt.Sprintf("%v, for the second time", f), got, said, want, many("-", len(s)-1)+"b"+many("-", 17+len(s)-1)+"s")
 	}
@@ -387,8 +387,8 @@ func TestSendingTheLastBit(t *testing.T) {
 // The acknowledgement slot: what nobody acknowledges is an error; for a passive sender
 // it is owed.
 func TestUnheardSenders(t *testing.T) {
-	for _, f := range some() {
-		s := wire(t, f)
+	for _, f := range samples.Some() {
+		s := samples.Wire(f)
 		for _, now := range counters() {
 			from := given(t, api.Ctl{Conf: now}, f)
 			as := from
@@ -407,7 +407,7 @@ func TestUnheardSenders(t *testing.T) {
 // A passive sender that is alone stays as it is for good; if it is not, it is counted
 // once for each frame.
 func TestUnheardPassiveSenders(t *testing.T) {
-	s := wire(t, own)
+	s := samples.Wire(own)
 	part, flagged := s[:len(s)-8], many("-", len(s)-9)+"a"
 	behind := many("r", 8+3+8)
 	from := given(t, with(api.Ctl{}, 128, 0), own)
@@ -437,7 +437,7 @@ func TestUnheardPassiveSenders(t *testing.T) {
 	check(t, "with others, and REC 128", got, said, want, flagged+"-")
 	// No other error is owed.
 	want = api.Ctl{Phase: api.PhaseWeak, N: 1, Conf: api.Conf{TEC: 136}, Has: true, Give: own, Sender: true, Error: true}
-	got, said = run(from, turned(s, len(s)-1)[:len(s)-9]+"drrrrrrrd"+"d")
+	got, said = run(from, rows.Turned(s, len(s)-1)[:len(s)-9]+"drrrrrrrd"+"d")
 	check(t, "an error of the last bit", got, said, want, many("-", len(s)-1)+"b-")
 }
 
@@ -453,7 +453,7 @@ func TestStuffErrorsOfPassiveSenders(t *testing.T) {
 
 // A sender stays the sender behind its error: what follows counts as a sender's.
 func TestSendersBehindTheirErrors(t *testing.T) {
-	s := wire(t, own)
+	s := samples.Wire(own)
 	from := given(t, api.Ctl{}, own)
 	start := many(".", 19) + "d" // a bit error
 	at := func(phase uint8, tec, n int) api.Ctl {
@@ -478,7 +478,7 @@ func TestSendersBehindTheirErrors(t *testing.T) {
 	}
 	// It sends again, in the third bit between frames, too.
 	for _, between := range []string{many("r", 10), many("r", 11)} {
-		got, said := run(from, start+"dddddd"+between+acked(s))
+		got, said := run(from, start+"dddddd"+between+samples.Acked(s))
 		want := api.Ctl{Phase: api.PhaseInter, Conf: api.Conf{TEC: 7}, Sender: true, Error: true}
 		check(t, "again", got, said, want, told+many("-", 6+len(between)+len(s)-1)+"s")
 	}
@@ -496,7 +496,7 @@ func TestSendersBehindTheirErrors(t *testing.T) {
 
 // Behind a frame that was sent the sender is still one: of an overload flag, too.
 func TestSendersBehindTheirFrames(t *testing.T) {
-	s := acked(wire(t, own))
+	s := samples.Acked(samples.Wire(own))
 	from := given(t, with(api.Ctl{Error: true}, 50, 0), own)
 	sent := many("-", len(s)-1) + "s"
 	over := api.Ctl{Phase: api.PhaseOver, N: 1, Conf: api.Conf{TEC: 57}, Sender: true}
@@ -507,8 +507,8 @@ func TestSendersBehindTheirFrames(t *testing.T) {
 	got, said = run(from, s+"d"+"dddddd"+"rrrd")
 	check(t, "an overload flag, and an error behind it", got, said, api.Ctl{Phase: api.PhaseFlag, Conf: api.Conf{TEC: 57}, Sender: true, Error: true}, sent+"o"+many("-", 9)+"m")
 	// The next frame makes a receiver of it.
-	got, said = run(from, s+"rrrr"+wire(t, other)[:8])
-	check(t, "another frame", got, said, reads(with(api.Ctl{Error: true}, 49, 0), wire(t, other)[:8]), sent+many("-", 12))
+	got, said = run(from, s+"rrrr"+samples.Wire(other)[:8])
+	check(t, "another frame", got, said, reads(with(api.Ctl{Error: true}, 49, 0), samples.Wire(other)[:8]), sent+many("-", 12))
 	// A frame with the fixed bits of another kind is taken as any other.
 	body := rows.Of("dddrddrdddrrddrdddd")
 	body = append(body, crc.Bits(crc.Sum(body))...)

@@ -77,7 +77,7 @@ func TestIdle(t *testing.T) {
 				// With a frame it starts, and is the sender.
 				from = given(t, from, own)
 				begun.Has, begun.Give = true, own
-				begun.Sends, begun.Sender, begun.Wire, begun.At = true, true, rows.Of(wire(t, own)), 1
+				begun.Sends, begun.Sender, begun.Wire, begun.At = true, true, rows.Of(samples.Wire(own)), 1
 				from.Sender = true
 				wrong, letter := failed(from, now, more(now, 8, 0), "b")
 				from.Sender = was
@@ -335,7 +335,7 @@ func checkInter(t *testing.T, now api.Conf, sender, flagged bool, f *api.Frame) 
 	over.Error = false
 	begun := api.Ctl{Phase: api.PhaseFrame, Conf: now, Has: from.Has, Give: from.Give, Error: flagged, Take: taking("d")}
 	if from.Has && !holds {
-		begun.Sends, begun.Sender, begun.Wire, begun.At = true, true, rows.Of(wire(t, own)), 1
+		begun.Sends, begun.Sender, begun.Wire, begun.At = true, true, rows.Of(samples.Wire(own)), 1
 	}
 	checkRows(t, what, from, []row{
 		{"r", "-", next(api.PhaseInter, 1)},
@@ -400,7 +400,7 @@ func TestOff(t *testing.T) {
 
 // A controller that is on again sends what it has.
 func TestOnAgain(t *testing.T) {
-	s := acked(wire(t, own))
+	s := samples.Acked(samples.Wire(own))
 	c := given(t, api.Ctl{Phase: api.PhaseOff, Conf: gone(256, 255)}, own)
 	got, said := run(c, many("r", 1408)+s)
 	want := api.Ctl{Phase: api.PhaseInter, Sender: true}

@@ -44,7 +44,7 @@ func strange(r *rand.Rand, frames []api.Frame, s []bool) api.Ctl {
 func TestEveryControllerHasAResult(t *testing.T) {
 	r := rand.New(rand.NewPCG(1, 88))
 	frames := append(samples.Right(), samples.Wrong()...)
-	s := rows.Of(wire(t, own))
+	s := rows.Of(samples.Wire(own))
 	for range 30000 {
 		c := strange(r, frames, s)
 		before := copied(c)
@@ -53,14 +53,14 @@ func TestEveryControllerHasAResult(t *testing.T) {
 			if _, ok := ctl.Drop(c); ok && (!c.Has || c.Sends) {
 				t.Fatalf("Drop of %+v is true", c)
 			}
-			if got, e := ctl.Give(c, pick(r, frames...)); e != api.OK && (e != api.ErrFrame && e != api.ErrFull || !same(got, api.Ctl{})) {
+			if got, e := ctl.Give(c, pick(r, frames...)); e != api.OK && (e != api.ErrFrame && e != api.ErrFull || !samples.SameCtl(got, api.Ctl{})) {
 				t.Fatalf("Give of %+v is %+v, error %d", c, got, e)
 			}
 			next, h := ctl.Step(c, r.IntN(2) == 0)
 			if h.What > api.HapOn || h.What != api.HapSent && h.What != api.HapTook && !samples.Same(h.Frame, api.Frame{}) {
 				t.Fatalf("Step of %+v is told %v", c, h)
 			}
-			if !same(c, before) {
+			if !samples.SameCtl(c, before) {
 				t.Fatalf("the argument has become\n%+v, and was\n%+v", c, before)
 			}
 			c, before = next, copied(next)
@@ -73,7 +73,7 @@ func TestPhasesThatAreNone(t *testing.T) {
 	for phase := int(api.PhaseOff) + 1; phase < 256; phase++ {
 		c := api.Ctl{Phase: uint8(phase), N: 3, Has: true, Give: own, Error: true}
 		for _, bit := range []bool{true, false} {
-			if got, h := ctl.Step(c, bit); !same(got, c) || h.What != api.HapNone || !samples.Same(h.Frame, api.Frame{}) {
+			if got, h := ctl.Step(c, bit); !samples.SameCtl(got, c) || h.What != api.HapNone || !samples.Same(h.Frame, api.Frame{}) {
 				t.Fatalf("Step in phase %d is %+v, %v", phase, got, h)
 			}
 		}
@@ -86,7 +86,7 @@ func TestPhasesThatAreNone(t *testing.T) {
 // R2: calls with an error, and with a false, change nothing for those that follow.
 func TestErrorsChangeNothing(t *testing.T) {
 	c := given(t, api.Ctl{}, own)
-	s := acked(wire(t, own))
+	s := samples.Acked(samples.Wire(own))
 	for k := range len(s) {
 		if _, e := ctl.Give(c, other); e != api.ErrFull {
 			t.Fatalf("behind %d bits a second Give is error %d", k, e)
@@ -94,12 +94,12 @@ func TestErrorsChangeNothing(t *testing.T) {
 		if _, e := ctl.Give(c, api.Frame{ID: 1 << 11}); e != api.ErrFrame {
 			t.Fatalf("behind %d bits Give of a wrong frame is error %d", k, e)
 		}
-		if got, ok := ctl.Drop(c); ok != (k == 0) || !ok && !same(got, c) {
+		if got, ok := ctl.Drop(c); ok != (k == 0) || !ok && !samples.SameCtl(got, c) {
 			t.Fatalf("behind %d bits Drop is %+v, %v", k, got, ok)
 		}
 		c = after(c, s[k:k+1])
 	}
-	if want := (api.Ctl{Phase: api.PhaseInter, Sender: true}); !same(c, want) {
+	if want := (api.Ctl{Phase: api.PhaseInter, Sender: true}); !samples.SameCtl(c, want) {
 		t.Errorf("it is\n%+v, not\n%+v", c, want)
 	}
 }
@@ -150,15 +150,15 @@ func within(t *testing.T) []api.Ctl {
 		l = append(l, roomy(c))
 	}
 	mine := samples.Made(0x155, false, false, 3)
-	s, foreign := acked(wire(t, mine)), acked(wire(t, samples.Made(0x100, true, false, 2)))
+	s, foreign := samples.Acked(samples.Wire(mine)), samples.Acked(samples.Wire(samples.Made(0x100, true, false, 2)))
 	add(given(t, api.Ctl{}, mine), s+"rrr")
 	add(given(t, api.Ctl{}, mine), foreign+"rrr"+s)
-	add(given(t, api.Ctl{}, mine), s[:30]+turned(s, 30)[30:31]+"ddddddddrrr")
+	add(given(t, api.Ctl{}, mine), s[:30]+rows.Turned(s, 30)[30:31]+"ddddddddrrr")
 	add(given(t, with(api.Ctl{}, 250, 0), mine), "r"+"rrrr")
-	add(given(t, with(api.Ctl{}, 130, 0), mine), turned(s, len(s)-9)[:len(s)-8]+"rrrrrrrrr")
+	add(given(t, with(api.Ctl{}, 130, 0), mine), rows.Turned(s, len(s)-9)[:len(s)-8]+"rrrrrrrrr")
 	add(api.Ctl{}, foreign+"dd")
 	add(api.Ctl{}, "dddddddddddddrrd")
-	for _, c := range places(t) {
+	for _, c := range places() {
 		l = append(l, roomy(c), roomy(given(t, c, mine)))
 	}
 	return l
@@ -189,7 +189,7 @@ func TestArgumentsStayAsTheyAre(t *testing.T) {
 		before := copied(whole(c))
 		ctl.Drive(c)
 		l, sent := results(t, c, f)
-		if !same(whole(c), before) || !bytes.Equal(f.Data[:cap(f.Data)], data) {
+		if !samples.SameCtl(whole(c), before) || !bytes.Equal(f.Data[:cap(f.Data)], data) {
 			t.Fatalf("the memory of\n%+v was\n%+v", whole(c), before)
 		}
 		// Nor do they change with what is returned.
@@ -197,7 +197,7 @@ func TestArgumentsStayAsTheyAre(t *testing.T) {
 			spoil(got)
 		}
 		clear(sent.Data[:cap(sent.Data)])
-		if !same(whole(c), before) || !bytes.Equal(f.Data[:cap(f.Data)], data) {
+		if !samples.SameCtl(whole(c), before) || !bytes.Equal(f.Data[:cap(f.Data)], data) {
 			t.Fatalf("a result shares memory with its argument\n%+v, which was\n%+v", whole(c), before)
 		}
 	}
@@ -216,7 +216,7 @@ func TestResultsAreNew(t *testing.T) {
 		spoil(c)
 		clear(f.Data)
 		for i := range l {
-			if !same(l[i], kept[i]) {
+			if !samples.SameCtl(l[i], kept[i]) {
 				t.Fatalf("result %d has become\n%+v, and was\n%+v", i, l[i], kept[i])
 			}
 			spoil(l[i])
@@ -244,7 +244,7 @@ func TestResultsHangOnArgumentsAlone(t *testing.T) {
 		}
 	}
 	for i := range l {
-		if !same(l[i], wanted[i]) {
+		if !samples.SameCtl(l[i], wanted[i]) {
 			t.Fatalf("among others it is\n%+v, not\n%+v", l[i], wanted[i])
 		}
 	}
@@ -257,7 +257,7 @@ func TestCapacityDoesNotMatter(t *testing.T) {
 		tight.Give.Data, tight.Wire, tight.Take.Bits = slices.Clip(tight.Give.Data), slices.Clip(tight.Wire), slices.Clip(tight.Take.Bits)
 		l, f := results(t, c, own)
 		k, g := results(t, tight, own)
-		if !slices.EqualFunc(l, k, same) || !samples.Same(f, g) || ctl.Drive(c) != ctl.Drive(tight) {
+		if !slices.EqualFunc(l, k, samples.SameCtl) || !samples.Same(f, g) || ctl.Drive(c) != ctl.Drive(tight) {
 			t.Fatalf("without room it is\n%+v, not\n%+v", k, l)
 		}
 	}
@@ -280,13 +280,13 @@ func TestEmptyIsNil(t *testing.T) {
 		for _, s := range []string{"rr", "rd", "dr", "dd"} {
 			one, said := run(c, s)
 			other, again := run(empty(c), s)
-			if !same(one, other) || said != again {
+			if !samples.SameCtl(one, other) || said != again {
 				t.Fatalf("with empty slices it is\n%+v, not\n%+v", other, one)
 			}
 		}
 	}
 	none := given(t, api.Ctl{}, api.Frame{ID: 1, Data: []byte{}})
-	s := acked(wire(t, api.Frame{ID: 1}))
+	s := samples.Acked(samples.Wire(api.Frame{ID: 1}))
 	if got, said := run(none, s); said != many("-", len(s)-1)+"s" || got.Has {
 		t.Errorf("a frame with empty data is told %q, and is %+v", said, got)
 	}

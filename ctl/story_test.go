@@ -19,7 +19,6 @@ import (
 // that go on, bit after bit, to their ends, with counters that are plain numbers, and
 // with rows of bits instead of what is left of them.
 type story struct {
-	t        *testing.T
 	tec, rec int
 	off      bool
 	run      int // bits while it is off
@@ -43,8 +42,8 @@ type story struct {
 type part func() part
 
 // newStory is one from counters on.
-func newStory(t *testing.T, c api.Conf) *story {
-	s := &story{t: t, tec: c.TEC, rec: c.REC, off: c.Off, run: c.Run, times: c.Times}
+func newStory(c api.Conf) *story {
+	s := &story{tec: c.TEC, rec: c.REC, off: c.Off, run: c.Run, times: c.Times}
 	s.next, s.stop = iter.Pull(func(yield func(bool) bool) {
 		defer func() {
 			if r := recover(); r != nil && r != any(s) {
@@ -296,7 +295,7 @@ func (s *story) readOn(row string) part {
 // sending is a frame from its second bit on.
 func (s *story) sending() part {
 	s.sender = true
-	all := wire(s.t, s.give)
+	all := samples.Wire(s.give)
 	contest := 12
 	if s.give.Ext {
 		contest = 32
@@ -346,7 +345,7 @@ type pair struct {
 
 // newPair is one from counters on.
 func newPair(t *testing.T, c api.Conf) *pair {
-	p := &pair{t: t, c: api.Ctl{Conf: c}, s: newStory(t, c), seen: map[string]int{}}
+	p := &pair{t: t, c: api.Ctl{Conf: c}, s: newStory(c), seen: map[string]int{}}
 	if c.Off {
 		p.c.Phase = api.PhaseOff
 	}
@@ -356,7 +355,7 @@ func newPair(t *testing.T, c api.Conf) *pair {
 // compare holds the controller to its story.
 func (p *pair) compare() {
 	p.t.Helper()
-	if want := p.s.now(); !same(p.c, want) {
+	if want := p.s.now(); !samples.SameCtl(p.c, want) {
 		p.t.Fatalf("behind %q it is\n%+v, not\n%+v", p.trail.String(), p.c, want)
 	}
 	if got, want := ctl.Drive(p.c), p.s.drives(); got != want {
@@ -375,7 +374,7 @@ func (p *pair) step(bit bool) {
 	if h.What != want.What || !samples.Same(h.Frame, want.Frame) {
 		p.t.Fatalf("behind %q it is told %v, not %v", p.trail.String(), h, want)
 	}
-	p.seen[fmt.Sprint(phase, letters[h.What:h.What+1])]++
+	p.seen[fmt.Sprint(phase, samples.Letters[h.What:h.What+1])]++
 	p.compare()
 }
 
@@ -420,14 +419,14 @@ func (p *pair) set(tec, rec int) {
 }
 
 // others are what the other nodes drive, for a while.
-func others(t *testing.T, r *rand.Rand) string {
-	frames := some()
-	s := wire(t, frames[r.IntN(len(frames))])
+func others(r *rand.Rand) string {
+	frames := samples.Some()
+	s := samples.Wire(frames[r.IntN(len(frames))])
 	switch r.IntN(9) {
 	case 0, 1:
 		return s
 	case 2:
-		return turned(s, r.IntN(len(s)))
+		return rows.Turned(s, r.IntN(len(s)))
 	case 3:
 		return s[:r.IntN(len(s))]
 	case 4:
@@ -439,7 +438,7 @@ func others(t *testing.T, r *rand.Rand) string {
 		}
 		return rows.Text(l)
 	case 6:
-		return acked(s)
+		return samples.Acked(s)
 	}
 	return many("r", r.IntN(200))
 }
@@ -447,7 +446,7 @@ func others(t *testing.T, r *rand.Rand) string {
 // P8.1, P8.2: controllers among others, and faults, go on as their stories do.
 func TestManyStories(t *testing.T) {
 	seen := map[string]int{}
-	frames := some()
+	frames := samples.Some()
 	for seed := range uint64(150) {
 		r := rand.New(rand.NewPCG(seed, 8))
 		p := newPair(t, api.Conf{TEC: int(seed % 7 * 40), REC: int(seed % 5 * 60)})
@@ -458,7 +457,7 @@ func TestManyStories(t *testing.T) {
 			}
 			faults := []int{0, 0, 20, 200}[r.IntN(4)]
 			acks := r.IntN(4) != 0
-			bits := others(t, r)
+			bits := others(r)
 			if p.s.off {
 				bits += many("r", r.IntN(1500))
 			}
@@ -512,8 +511,8 @@ type start struct {
 }
 
 // starts are some in all phases, of senders and others, active and passive.
-func starts(t *testing.T) []start {
-	s, mine := acked(wire(t, other)), acked(wire(t, own))
+func starts() []start {
+	s, mine := samples.Acked(samples.Wire(other)), samples.Acked(samples.Wire(own))
 	var l []start
 	for _, now := range []api.Conf{{}, {TEC: 130}, {REC: 130}, {TEC: 250, REC: 250}} {
 		for _, late := range []bool{false, true} {
@@ -526,7 +525,7 @@ func starts(t *testing.T) []start {
 				l = append(l, start{now: now, late: late, bits: bits})
 			}
 		}
-		unheard := wire(t, own)[:len(mine)-9] + "r"
+		unheard := samples.Wire(own)[:len(mine)-9] + "r"
 		for _, bits := range []string{
 			"", "r", "ddr", mine[:5], mine[:19], mine[:len(mine)-9], mine[:len(mine)-2], mine, mine + "rr", mine + "rrr",
 			unheard, unheard + "rrr", unheard + "rrrrrr", unheard + "rrrrrr" + "dddd", unheard + "rrrrrr" + many("r", 11), unheard + "rrrrrr" + many("r", 6),
@@ -543,7 +542,7 @@ func starts(t *testing.T) []start {
 
 // P8.2: all short rows of bits, from there on.
 func TestStoriesOfAllShortRows(t *testing.T) {
-	for _, x := range starts(t) {
+	for _, x := range starts() {
 		for s := range rows.UpTo(7) {
 			if len(s) < 7 {
 				continue

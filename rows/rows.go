@@ -51,3 +51,10 @@ func Turn(l []bool) {
 		l[i] = !l[i]
 	}
 }
+
+// Turned is s with one bit inverted.
+func Turned(s string, place int) string {
+	l := Of(s)
+	l[place] = !l[place]
+	return Text(l)
+}

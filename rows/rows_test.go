@@ -19,6 +19,9 @@ func TestRows(t *testing.T) {
 	if !slices.Equal(l, []bool{false, true, true}) {
 		t.Errorf("rdd inverted is %v", l)
 	}
+	if s := rows.Turned("rddr", 1); s != "rrdr" {
+		t.Errorf("rddr with its second bit inverted is %q", s)
+	}
 	if len(rows.Of("")) != 0 || rows.Text(nil) != "" {
 		t.Error("no bits are some")
 	}

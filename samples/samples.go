@@ -1,17 +1,46 @@
 // Package samples has frames for the tests of all layers: right ones of all kinds,
-// and some that are not right. It is for tests alone.
+// and some that are not right; and it writes what becomes of them as texts. It is for
+// tests alone.
 package samples
 
 import (
 	"bytes"
+	"slices"
 
 	"jackstay/api"
+	"jackstay/frame"
+	"jackstay/rows"
 )
+
+// Letters are those of what happens to a controller, by their numbers: nothing, sent,
+// took, lost, bit, fill, form, (not) acknowledged, check sum, over, off (x), on.
+const Letters = "-stlbfmacoxn"
+
+const ackBack = 9 // the acknowledgement slot is so many bits before a wire form's end
 
 // Same reports whether two frames are; no data are as good as nil.
 func Same(a, b api.Frame) bool {
 	return a.ID == b.ID && a.Ext == b.Ext && a.Remote == b.Remote && a.Dlc == b.Dlc && bytes.Equal(a.Data, b.Data)
 }
+
+// SameCtl reports whether two controllers are; no bits, and no data, are as good as nil.
+func SameCtl(a, b api.Ctl) bool {
+	return a.Phase == b.Phase && a.N == b.N && a.Conf == b.Conf &&
+		a.Has == b.Has && Same(a.Give, b.Give) &&
+		a.Sends == b.Sends && a.Sender == b.Sender &&
+		slices.Equal(a.Wire, b.Wire) && a.At == b.At &&
+		a.Take.Row == b.Take.Row && slices.Equal(a.Take.Bits, b.Take.Bits) && a.Take.Place == b.Take.Place && a.Take.Fits == b.Take.Fits &&
+		a.Row == b.Row && a.Error == b.Error && a.Owed == b.Owed
+}
+
+// Wire is the wire form of a right frame.
+func Wire(f api.Frame) string {
+	l, _ := frame.Wire(f)
+	return rows.Text(l)
+}
+
+// Acked is a wire form with a dominant acknowledgement.
+func Acked(s string) string { return rows.Turned(s, len(s)-ackBack) }
 
 // Data are so many bytes, 11 at most.
 func Data(many int) []byte { return []byte("\xa5\x00\xff\x01\x80\x7e\x3c\x55\xaa\x11\x22")[:many] }
@@ -37,6 +66,17 @@ func Right() []api.Frame {
 			for _, id := range []uint32{0, 1, 5, 0x7ff, 0x800, 1 << 17, 1<<18 - 1, 1 << 18, 5 << 18, 0x123<<18 | 0x2aaaa, 0x7ff << 18, 1 << 28, 1<<29 - 2, 1<<29 - 1} {
 				l = append(l, Made(id, true, remote, dlc))
 			}
+		}
+	}
+	return l
+}
+
+// Some are right frames of all kinds, so few that much can be tried with each.
+func Some() []api.Frame {
+	l := []api.Frame{{}, {ID: 1}, {ID: 9}, {ID: 0x17}, {ID: 0x7ff}, {ID: 0x7ff, Remote: true}, {ID: 0x123, Dlc: 1, Data: []byte{0xaa}}}
+	for i, f := range Right() {
+		if i%23 == 0 {
+			l = append(l, f)
 		}
 	}
 	return l

@@ -33,3 +33,45 @@ func TestData(t *testing.T) {
 		}
 	}
 }
+
+func TestSameCtl(t *testing.T) {
+	c := api.Ctl{Phase: 1, N: 2, Wire: []bool{true}, Give: api.Frame{ID: 5}}
+	again := c
+	again.Wire, again.Take.Bits = []bool{true}, []bool{}
+	if !samples.SameCtl(c, again) || !samples.SameCtl(api.Ctl{}, api.Ctl{Wire: []bool{}, Give: api.Frame{Data: []byte{}}}) {
+		t.Error("controllers that are the same are not")
+	}
+	for i, change := range []func(*api.Ctl){
+		func(c *api.Ctl) { c.Phase++ }, func(c *api.Ctl) { c.N++ }, func(c *api.Ctl) { c.Conf.TEC++ },
+		func(c *api.Ctl) { c.Has = true }, func(c *api.Ctl) { c.Give.ID++ },
+		func(c *api.Ctl) { c.Sends = true }, func(c *api.Ctl) { c.Sender = true },
+		func(c *api.Ctl) { c.Wire = []bool{false} }, func(c *api.Ctl) { c.At++ },
+		func(c *api.Ctl) { c.Take.Row.Many++ }, func(c *api.Ctl) { c.Take.Bits = []bool{true} },
+		func(c *api.Ctl) { c.Take.Place++ }, func(c *api.Ctl) { c.Take.Fits = true },
+		func(c *api.Ctl) { c.Row.Last = true }, func(c *api.Ctl) { c.Error = true }, func(c *api.Ctl) { c.Owed = true },
+	} {
+		other := c
+		if change(&other); samples.SameCtl(c, other) || samples.SameCtl(other, c) {
+			t.Errorf("change %d is none", i)
+		}
+	}
+}
+
+func TestWire(t *testing.T) {
+	s := samples.Wire(api.Frame{ID: 1})
+	const body = "dddddrdddddrdrdddddrdddrdddrddddrddrr"
+	if s != body+"rrrrrrrrrr" {
+		t.Errorf("ID 1 is %q", s)
+	}
+	if got := samples.Acked(s); got != body+"rdrrrrrrrr" {
+		t.Errorf("ID 1, acknowledged, is %q", got)
+	}
+}
+
+func TestSome(t *testing.T) {
+	for _, f := range samples.Some() {
+		if samples.Wire(f) == "" {
+			t.Errorf("%v is not right", f)
+		}
+	}
+}

@@ -23,7 +23,7 @@ func odd() [][]bool {
 			l = append(l, slices.Repeat(rows.Of(pattern), long)[:long])
 		}
 	}
-	for _, f := range some() {
+	for _, f := range samples.Some() {
 		body, _ := frame.Body(f)
 		l = append(l, body, append(slices.Clone(body), true), body[:len(body)-1])
 	}
@@ -61,7 +61,7 @@ func checkResults(t *testing.T, state api.Taking) {
 // R1: long rows are as good as short ones: what is behind a frame does not matter.
 func TestLongRows(t *testing.T) {
 	f := samples.Made(5, true, false, 8)
-	state, _ := read(wire(t, f))
+	state, _ := read(samples.Wire(f))
 	for i := range 1 << 16 {
 		next, said := take.Next(state, i%3 == 0)
 		if said != api.TakeOver || next.Place != api.PlaceOver || len(next.Bits) != len(state.Bits) {
@@ -76,8 +76,7 @@ func TestLongRows(t *testing.T) {
 
 // within are states at all places of some frames, also ones that are over too early,
 // each with room behind its bits.
-func within(t *testing.T) []api.Taking {
-	t.Helper()
+func within() []api.Taking {
 	var l []api.Taking
 	add := func(s string) {
 		for long := range len(s) + 1 {
@@ -86,11 +85,11 @@ func within(t *testing.T) []api.Taking {
 		}
 	}
 	for _, f := range []api.Frame{{ID: 1}, {ID: 9}, {ID: 0x123, Dlc: 1, Data: []byte{0xaa}}} {
-		s := wire(t, f)
+		s := samples.Wire(f)
 		add(s + "rr")
-		add(turned(s, len(s)-11)) // the check sum, or the stuff bit behind it
-		add(turned(s, len(s)-10))
-		add(turned(s, len(s)-1))
+		add(rows.Turned(s, len(s)-11)) // the check sum, or the stuff bit behind it
+		add(rows.Turned(s, len(s)-10))
+		add(rows.Turned(s, len(s)-1))
 	}
 	add("dddddddd")
 	return l
@@ -105,7 +104,7 @@ func roomy(state api.Taking) api.Taking {
 
 // R3: the bits of an argument, and those behind their end, stay as they are.
 func TestArgumentsStayAsTheyAre(t *testing.T) {
-	for _, state := range within(t) {
+	for _, state := range within() {
 		room := state.Bits[:cap(state.Bits)]
 		before := slices.Clone(room)
 		for _, bit := range []bool{true, false} {
@@ -122,7 +121,7 @@ func TestArgumentsStayAsTheyAre(t *testing.T) {
 // R3, P7.1: a result is in memory of its own, in its spare capacity too: it stays as it
 // is whatever becomes of the argument, and of other results.
 func TestResultsAreNew(t *testing.T) {
-	for _, state := range within(t) {
+	for _, state := range within() {
 		for _, bit := range []bool{true, false} {
 			one, _ := take.Next(state, bit)
 			other, _ := take.Next(state, bit)
@@ -144,7 +143,7 @@ func TestResultsAreNew(t *testing.T) {
 // R3: so are the data of a frame.
 func TestFramesAreNew(t *testing.T) {
 	for _, f := range samples.Right() {
-		state, _ := read(wire(t, f))
+		state, _ := read(samples.Wire(f))
 		one, _ := take.Frame(state)
 		other, _ := take.Frame(state)
 		clear(one.Data[:cap(one.Data)])
@@ -162,15 +161,15 @@ func TestFramesAreNew(t *testing.T) {
 // R4: results hang on the arguments alone: not on the calls before, nor on other frames
 // that are read at the same time.
 func TestResultsHangOnArgumentsAlone(t *testing.T) {
-	frames := some()
+	frames := samples.Some()
 	states := make([]api.Taking, len(frames))
 	long := 0
 	for _, f := range frames {
-		long = max(long, len(wire(t, f)))
+		long = max(long, len(samples.Wire(f)))
 	}
 	for k := range long {
 		for i, f := range frames {
-			if s := wire(t, f); k < len(s) {
+			if s := samples.Wire(f); k < len(s) {
 				states[i], _ = readOn(states[i], s[k:k+1])
 			}
 		}
@@ -190,7 +189,7 @@ func TestResultsHangOnArgumentsAlone(t *testing.T) {
 
 // R4: nor on a capacity.
 func TestCapacityDoesNotMatter(t *testing.T) {
-	for _, state := range within(t) {
+	for _, state := range within() {
 		tight := state
 		tight.Bits = slices.Clip(slices.Clone(state.Bits))
 		for _, bit := range []bool{true, false} {

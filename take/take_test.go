@@ -157,36 +157,8 @@ func checkState(t *testing.T, s string, got api.Taking, want reading) {
 	}
 }
 
-// wire is the wire form of a right frame.
-func wire(t *testing.T, f api.Frame) string {
-	t.Helper()
-	l, e := frame.Wire(f)
-	if e != api.OK {
-		t.Fatalf("Wire(%v) is error %d", f, e)
-	}
-	return rows.Text(l)
-}
-
-// turned is s with one bit inverted.
-func turned(s string, place int) string {
-	l := rows.Of(s)
-	l[place] = !l[place]
-	return rows.Text(l)
-}
-
 // stuffed are the bits of a body on the wire.
 func stuffed(body []bool) string { return rows.Text(stuff.Put(body)) }
-
-// some are right frames of all kinds, so few that much can be tried with each.
-func some() []api.Frame {
-	l := []api.Frame{{}, {ID: 1}, {ID: 9}, {ID: 0x17}, {ID: 0x123, Dlc: 1, Data: []byte{0xaa}}}
-	for i, f := range samples.Right() {
-		if i%23 == 0 {
-			l = append(l, f)
-		}
-	}
-	return l
-}
 
 // owing are right frames with a stuff bit behind the body: it is recessive behind some,
 // and dominant behind the others.
@@ -305,9 +277,9 @@ func TestNextOfAllClosings(t *testing.T) {
 // The states of frames of all kinds, behind each of their bits.
 func TestNextOfManyFrames(t *testing.T) {
 	for i, f := range samples.Right() {
-		s := wire(t, f)
+		s := samples.Wire(f)
 		if i%2 == 0 {
-			s = turned(s, len(s)-9)
+			s = rows.Turned(s, len(s)-9)
 		}
 		s += "drr"
 		want := readingOf(s)
@@ -373,7 +345,7 @@ func TestStuffBitBehindOtherCheckSums(t *testing.T) {
 		for _, rest := range []string{"", "r", "rr", "rd", "rrr", "rdr", "rrd", "rdrr", "d"} {
 			check(t, s+rest)
 		}
-		check(t, turned(s, len(s)-1)+"rrrrrrrrrr")
+		check(t, rows.Turned(s, len(s)-1)+"rrrrrrrrrr")
 	}
 	if met < 10 {
 		t.Errorf("of such frames there are %d", met)
@@ -382,7 +354,7 @@ func TestStuffBitBehindOtherCheckSums(t *testing.T) {
 
 // A check sum that does not fit is told behind the acknowledgement, and not before.
 func TestCheckSumsThatDoNotFit(t *testing.T) {
-	for _, f := range some() {
+	for _, f := range samples.Some() {
 		body, _ := frame.Body(f)
 		for place := len(body) - 15; place < len(body); place++ {
 			other := slices.Clone(body)
@@ -447,8 +419,8 @@ func TestOver(t *testing.T) {
 // P7.2
 
 func TestDrive(t *testing.T) {
-	for _, f := range some() {
-		s := wire(t, f)
+	for _, f := range samples.Some() {
+		s := samples.Wire(f)
 		for long := range len(s) + 1 {
 			got, _ := read(s[:long])
 			if want := long != len(s)-9; take.Drive(got) != want {
@@ -473,8 +445,8 @@ func TestDriveHangsOnThePlaceAndTheCheckSum(t *testing.T) {
 // P7.3
 
 func TestFrame(t *testing.T) {
-	for _, f := range some() {
-		s := wire(t, f)
+	for _, f := range samples.Some() {
+		s := samples.Wire(f)
 		for _, ack := range []string{"r", "d"} {
 			s = s[:len(s)-9] + ack + s[len(s)-8:]
 			for long := range len(s) + 1 {
@@ -523,7 +495,7 @@ func TestFrameWithOtherFixedBits(t *testing.T) {
 
 // A frame is read of bits that begin with a dominant one; others are never taken.
 func TestFrameOfAFirstBitThatIsRecessive(t *testing.T) {
-	for _, f := range some() {
+	for _, f := range samples.Some() {
 		body, _ := frame.Body(f)
 		body[0] = true
 		body = append(body[:len(body)-15], crc.Bits(crc.Sum(body[:len(body)-15]))...)
@@ -538,10 +510,10 @@ func TestFrameOfAFirstBitThatIsRecessive(t *testing.T) {
 
 func TestRightFramesAreRead(t *testing.T) {
 	for _, f := range append(samples.Right(), owing(t)...) {
-		s := wire(t, f)
+		s := samples.Wire(f)
 		for _, ack := range []int{0, 9} {
 			if ack > 0 {
-				s = turned(s, len(s)-ack)
+				s = rows.Turned(s, len(s)-ack)
 			}
 			state, said := read(s)
 			if want := strings.Repeat("m", len(s)-2) + "go"; said != want {
@@ -557,7 +529,7 @@ func TestRightFramesAreRead(t *testing.T) {
 func TestAllBaseIDsAreRead(t *testing.T) {
 	for id := range uint32(1 << 11) {
 		f := samples.Made(id, false, id%2 == 0, uint8(id%5))
-		state, said := read(wire(t, f))
+		state, said := read(samples.Wire(f))
 		if got, ok := take.Frame(state); !ok || !samples.Same(got, f) || !strings.HasSuffix(said, "mgo") {
 			t.Fatalf("%v says %q; Frame is %v, %v", f, said, got, ok)
 		}
@@ -567,7 +539,7 @@ func TestAllBaseIDsAreRead(t *testing.T) {
 // One bit behind the body is inverted.
 func TestInvertedBitsBehindTheBody(t *testing.T) {
 	for _, f := range append(samples.Right(), owing(t)...) {
-		s := wire(t, f)
+		s := samples.Wire(f)
 		n := len(s)
 		for place := n - 10; place < n; place++ {
 			want := strings.Repeat("m", place) + "f" + strings.Repeat("o", n-1-place)
@@ -577,7 +549,7 @@ func TestInvertedBitsBehindTheBody(t *testing.T) {
 			case n - 1:
 				want = strings.Repeat("m", n-2) + "gl"
 			}
-			if _, said := read(turned(s, place)); said != want {
+			if _, said := read(rows.Turned(s, place)); said != want {
 				t.Fatalf("%v with bit %d of %d inverted says %q, not %q", f, place, n, said, want)
 			}
 		}
@@ -586,11 +558,11 @@ func TestInvertedBitsBehindTheBody(t *testing.T) {
 
 // One bit of the body, or one of its stuff bits, is inverted: the frame is not taken.
 func TestInvertedBitsOfTheBody(t *testing.T) {
-	frames := append(some(), owing(t)...)
+	frames := append(samples.Some(), owing(t)...)
 	for i, f := range frames {
-		s := wire(t, f)
+		s := samples.Wire(f)
 		for place := range len(s) - 10 {
-			state, said := read(turned(s, place))
+			state, said := read(rows.Turned(s, place))
 			got, ok := take.Frame(state)
 			if samples.Same(got, f) && ok {
 				t.Fatalf("%v with bit %d inverted is taken", f, place)
@@ -599,7 +571,7 @@ func TestInvertedBitsOfTheBody(t *testing.T) {
 				t.Fatalf("%v with bit %d inverted says %q; Frame is %v, %v", f, place, said, got, ok)
 			}
 			if i%7 == 0 {
-				check(t, turned(s, place)+"rrrrrr")
+				check(t, rows.Turned(s, place)+"rrrrrr")
 			}
 		}
 	}
@@ -608,10 +580,10 @@ func TestInvertedBitsOfTheBody(t *testing.T) {
 // Two bits are inverted, wherever they are.
 func TestTwoInvertedBits(t *testing.T) {
 	for _, f := range []api.Frame{{ID: 0x17}, {ID: 0x2a5, Remote: true, Dlc: 3}} {
-		s := wire(t, f)
+		s := samples.Wire(f)
 		for one := range len(s) {
 			for other := range one {
-				check(t, turned(turned(s, one), other))
+				check(t, rows.Turned(rows.Turned(s, one), other))
 			}
 		}
 	}
@@ -619,7 +591,7 @@ func TestTwoInvertedBits(t *testing.T) {
 
 // The chapter's examples.
 func TestExamples(t *testing.T) {
-	s := wire(t, api.Frame{ID: 1})
+	s := samples.Wire(api.Frame{ID: 1})
 	if _, said := read(s); said != strings.Repeat("m", len(s)-2)+"go" {
 		t.Errorf("ID 1 says %q", said)
 	}
@@ -631,7 +603,7 @@ func TestExamples(t *testing.T) {
 	if _, said := read("dddddd"); said != "mmmmms" {
 		t.Errorf("six dominant bits say %q", said)
 	}
-	if _, said := read(turned(s, len(s)-10)); said != strings.Repeat("m", len(s)-10)+"fooooooooo" {
+	if _, said := read(rows.Turned(s, len(s)-10)); said != strings.Repeat("m", len(s)-10)+"fooooooooo" {
 		t.Errorf("a dominant delimiter of the check sum says %q", said)
 	}
 }
