@@ -8,9 +8,15 @@ import (
 	"jackstay/api"
 )
 
+// Frame is f in memory of its own.
+func Frame(f api.Frame) api.Frame {
+	f.Data = slices.Clone(f.Data)
+	return f
+}
+
 // Ctl is c in memory of its own.
 func Ctl(c api.Ctl) api.Ctl {
-	c.Give.Data = slices.Clone(c.Give.Data)
+	c.Give = Frame(c.Give)
 	c.Wire = slices.Clone(c.Wire)
 	c.Take.Bits = slices.Clone(c.Take.Bits)
 	return c

@@ -19,6 +19,23 @@ func made() api.Ctl {
 	}
 }
 
+func TestFrame(t *testing.T) {
+	for _, spoilt := range []int{0, 1} {
+		one := samples.Made(5, true, false, 8)
+		l := []api.Frame{one, clone.Frame(one)}
+		if !samples.Same(l[0], l[1]) {
+			t.Errorf("of %v the copy is %v", l[0], l[1])
+		}
+		clear(l[spoilt].Data)
+		if other := l[1-spoilt]; !samples.Same(other, samples.Made(5, true, false, 8)) {
+			t.Errorf("one changes with the other: it is %v", other)
+		}
+	}
+	if got := clone.Frame(api.Frame{}); !samples.Same(got, api.Frame{}) {
+		t.Errorf("the copy of a zero frame is %v", got)
+	}
+}
+
 // What is copied is the same, and stays so, whatever becomes of the other one.
 func TestCtl(t *testing.T) {
 	for _, spoilt := range []int{0, 1} {
