@@ -9,6 +9,7 @@ import (
 
 	"jackstay/api"
 	"jackstay/flips"
+	"jackstay/rows"
 )
 
 // at is a flip.
@@ -37,27 +38,6 @@ func parts(l []api.Flip) iter.Seq[[]api.Flip] {
 			}
 			if !yield(part) {
 				return
-			}
-		}
-	}
-}
-
-// lists yields all lists of at most many of those flips, in all orders, each one as
-// often as may be.
-func lists(of []api.Flip, many int) iter.Seq[[]api.Flip] {
-	return func(yield func([]api.Flip) bool) {
-		all := [][]api.Flip{nil}
-		for len(all) > 0 {
-			l := all[0]
-			all = all[1:]
-			if !yield(l) {
-				return
-			}
-			if len(l) == many {
-				continue
-			}
-			for _, f := range of {
-				all = append(all, append(slices.Clip(l), f))
 			}
 		}
 	}
@@ -161,7 +141,7 @@ func TestRightOfWhatAreNoFlips(t *testing.T) {
 }
 
 func TestRightOfAllShortLists(t *testing.T) {
-	for l := range lists(append(grid(0, 2, 0, 31), at(api.MaxStep, 5), at(-1, 3), at(0, 32)), 4) {
+	for l := range rows.Lists(append(grid(0, 2, 0, 31), at(api.MaxStep, 5), at(-1, 3), at(0, 32)), 4) {
 		want := true
 		for i, f := range l {
 			want = want && f.At >= 0 && f.Node < 32 && (i == 0 || before(l[i-1], f))
@@ -205,7 +185,7 @@ func TestMake(t *testing.T) {
 }
 
 func TestMakeOfAllShortLists(t *testing.T) {
-	for l := range lists([]api.Flip{at(0, 0), at(0, 31), at(1, 0), at(api.MaxStep, 31)}, 7) {
+	for l := range rows.Lists([]api.Flip{at(0, 0), at(0, 31), at(1, 0), at(api.MaxStep, 31)}, 7) {
 		if got, e := flips.Make(l); !slices.Equal(got, oddOnes(l)) || e != api.OK || !flips.Right(got) {
 			t.Fatalf("Make(%v) is %v, error %d", l, got, e)
 		}

@@ -7,6 +7,7 @@ import (
 
 	"jackstay/api"
 	"jackstay/flips"
+	"jackstay/rows"
 )
 
 // The rules that hold everywhere, R1 to R7, as far as they touch this layer. It has
@@ -21,7 +22,7 @@ func TestEveryListHasAResult(t *testing.T) {
 			of = append(of, at(step, node))
 		}
 	}
-	for l := range lists(of, 3) {
+	for l := range rows.Lists(of, 3) {
 		if got, e := flips.Make(l); e != api.OK && got != nil || e == api.OK && !flips.Right(got) {
 			t.Fatalf("Make(%v) is %v, error %d", l, got, e)
 		}

@@ -1,10 +1,11 @@
 // Package rows writes rows of bits as texts, so that tests are easy to read: r is
-// a recessive bit, d a dominant one. It lists all short ones, too. It is for tests
-// alone.
+// a recessive bit, d a dominant one. It lists all short ones, and short lists of other
+// things, too. It is for tests alone.
 package rows
 
 import (
 	"iter"
+	"slices"
 	"strings"
 
 	"jackstay/bits"
@@ -40,6 +41,27 @@ func UpTo(many int) iter.Seq[string] {
 				if !yield(Text(bits.Of(n, long))) {
 					return
 				}
+			}
+		}
+	}
+}
+
+// Lists yields all lists of at most many of these things, in all orders, each one as
+// often as may be; short ones first.
+func Lists[T any](of []T, many int) iter.Seq[[]T] {
+	return func(yield func([]T) bool) {
+		all := [][]T{nil}
+		for len(all) > 0 {
+			l := all[0]
+			all = all[1:]
+			if !yield(l) {
+				return
+			}
+			if len(l) == many {
+				continue
+			}
+			for _, x := range of {
+				all = append(all, append(slices.Clip(l), x))
 			}
 		}
 	}

@@ -41,3 +41,22 @@ func TestUpTo(t *testing.T) {
 		}
 	}
 }
+
+func TestLists(t *testing.T) {
+	same := func(a, b []int) bool { return slices.Equal(a, b) }
+	want := [][]int{nil, {5}, {3}, {5, 5}, {5, 3}, {3, 5}, {3, 3}}
+	if got := slices.Collect(rows.Lists([]int{5, 3}, 2)); !slices.EqualFunc(got, want, same) {
+		t.Errorf("the lists of at most 2 of 5 and 3 are %v", got)
+	}
+	if got := slices.Collect(rows.Lists([]int{5, 3}, 0)); !slices.EqualFunc(got, want[:1], same) {
+		t.Errorf("the lists of none are %v", got)
+	}
+	if got := slices.Collect(rows.Lists([]int(nil), 2)); !slices.EqualFunc(got, want[:1], same) {
+		t.Errorf("the lists of nothing are %v", got)
+	}
+	for l := range rows.Lists([]int{5, 3}, 2) {
+		if same(l, want[3]) {
+			break
+		}
+	}
+}
