@@ -114,7 +114,7 @@ func copied(c api.Ctl) api.Ctl {
 // roomy is c with room behind the ends of all its slices, which is filled.
 func roomy(c api.Ctl) api.Ctl {
 	fill := rows.Of("drdrdrdrdrdr")
-	c.Give.Data = append(bytes.Clone(c.Give.Data), "behind it"...)[:len(c.Give.Data)]
+	c.Give = samples.Roomy(c.Give)
 	c.Wire = append(slices.Clone(c.Wire), fill...)[:len(c.Wire)]
 	c.Take.Bits = append(slices.Clone(c.Take.Bits), fill...)[:len(c.Take.Bits)]
 	return c
@@ -122,7 +122,7 @@ func roomy(c api.Ctl) api.Ctl {
 
 // whole is c with the room behind its slices' ends as a part of them.
 func whole(c api.Ctl) api.Ctl {
-	c.Give.Data = c.Give.Data[:cap(c.Give.Data)]
+	c.Give = samples.Whole(c.Give)
 	c.Wire, c.Take.Bits = c.Wire[:cap(c.Wire)], c.Take.Bits[:cap(c.Take.Bits)]
 	return c
 }
@@ -130,9 +130,7 @@ func whole(c api.Ctl) api.Ctl {
 // spoil writes over all memory of c.
 func spoil(c api.Ctl) {
 	c = whole(c)
-	for i := range c.Give.Data {
-		c.Give.Data[i] ^= 0xff
-	}
+	samples.Spoil(c.Give)
 	rows.Turn(c.Wire)
 	rows.Turn(c.Take.Bits)
 }
@@ -182,8 +180,7 @@ func results(t *testing.T, c api.Ctl, f api.Frame) ([]api.Ctl, api.Frame) {
 
 // R3: arguments stay as they are, and so does what is behind their ends.
 func TestArgumentsStayAsTheyAre(t *testing.T) {
-	f := samples.Made(5, false, false, 8)
-	f.Data = append(f.Data, "behind it"...)[:8]
+	f := samples.Roomy(samples.Made(5, false, false, 8))
 	data := bytes.Clone(f.Data[:cap(f.Data)])
 	for _, c := range within(t) {
 		before := copied(whole(c))

@@ -166,26 +166,17 @@ func TestErrorsChangeNothing(t *testing.T) {
 	put(t, m, 5, base(9))
 }
 
-// spoil writes over all data of a frame, and over what is behind their end.
-func spoil(f api.Frame) {
-	l := f.Data[:cap(f.Data)]
-	for i := range l {
-		l[i] ^= 0xff
-	}
-}
-
 // R3: Put leaves its frame as it is, also behind the end of its data, and with errors.
 func TestPutLeavesFramesAsTheyAre(t *testing.T) {
-	const behind = "behind it"
 	for _, f := range append(samples.Right(), samples.Wrong()...) {
-		whole := append(append([]byte(nil), f.Data...), behind...)
+		f = samples.Roomy(f)
+		whole := samples.Whole(f).Data
 		want := string(whole)
-		f.Data = whole[:len(f.Data)]
 		m := made(t, 1)
 		m.Put(f)
 		m.Put(f)
 		_, got, _ := m.Best()
-		spoil(got)
+		samples.Spoil(got)
 		m.Start()
 		m.Sent()
 		if string(whole) != want {
@@ -199,10 +190,9 @@ func TestPutLeavesFramesAsTheyAre(t *testing.T) {
 func TestDataHaveMemoryOfTheirOwn(t *testing.T) {
 	for _, want := range samples.Right() {
 		m := made(t, 3)
-		f := want
-		f.Data = append(append([]byte(nil), want.Data...), "behind it"...)[:len(want.Data)]
+		f := samples.Roomy(want)
 		put(t, m, 1, f, f)
-		spoil(f)
+		samples.Spoil(f)
 		best(t, m, 1, want)
 		for round := range 4 {
 			if round == 2 {
@@ -210,11 +200,11 @@ func TestDataHaveMemoryOfTheirOwn(t *testing.T) {
 			}
 			_, got, _ := m.Best()
 			_, other, _ := m.Best()
-			spoil(got)
+			samples.Spoil(got)
 			if !samples.Same(other, want) {
 				t.Fatalf("what Best returned of %v changes with what it returned once more: %v", want, other)
 			}
-			spoil(other)
+			samples.Spoil(other)
 			best(t, m, 1, want)
 		}
 		// What was returned stays as it was, whatever becomes of the mail.

@@ -1,7 +1,6 @@
 package net_test
 
 import (
-	"bytes"
 	"fmt"
 	"math"
 	oldrand "math/rand"
@@ -178,7 +177,7 @@ func image(v reflect.Value) string {
 func roomy(n api.Net) api.Net {
 	var nodes []api.Ctl
 	for _, c := range append(slices.Clone(n.Nodes), api.Ctl{Has: true, Give: first}, api.Ctl{Phase: api.PhaseFlag}) {
-		c.Give.Data = append(bytes.Clone(c.Give.Data), "behind it"...)[:len(c.Give.Data)]
+		c.Give = samples.Roomy(c.Give)
 		c.Wire = append(slices.Clone(c.Wire), rows.Of("drdrdrdr")...)[:len(c.Wire)]
 		c.Take.Bits = append(slices.Clone(c.Take.Bits), rows.Of("rdrdrdrd")...)[:len(c.Take.Bits)]
 		nodes = append(nodes, c)
@@ -189,11 +188,7 @@ func roomy(n api.Net) api.Net {
 }
 
 // roomyFrame is a frame with room behind its data.
-func roomyFrame() api.Frame {
-	f := samples.Made(5, false, false, 8)
-	f.Data = append(f.Data, "behind it"...)[:8]
-	return f
-}
+func roomyFrame() api.Frame { return samples.Roomy(samples.Made(5, false, false, 8)) }
 
 // R3: arguments stay as they are, and so does what is behind their ends.
 func TestArgumentsStayAsTheyAre(t *testing.T) {

@@ -33,6 +33,26 @@ func SameCtl(a, b api.Ctl) bool {
 		a.Row == b.Row && a.Error == b.Error && a.Owed == b.Owed
 }
 
+// Roomy is f with its data in memory of its own, and more bytes behind their end.
+func Roomy(f api.Frame) api.Frame {
+	f.Data = append(slices.Clone(f.Data), "behind it"...)[:len(f.Data)]
+	return f
+}
+
+// Whole is f with the room behind its data's end as a part of them.
+func Whole(f api.Frame) api.Frame {
+	f.Data = f.Data[:cap(f.Data)]
+	return f
+}
+
+// Spoil writes over all memory of f.
+func Spoil(f api.Frame) {
+	l := Whole(f).Data
+	for i := range l {
+		l[i] ^= 0xff
+	}
+}
+
 // Wire is the wire form of a right frame.
 func Wire(f api.Frame) string {
 	l, _ := frame.Wire(f)

@@ -1,6 +1,7 @@
 package samples_test
 
 import (
+	"bytes"
 	"testing"
 
 	"jackstay/api"
@@ -32,6 +33,26 @@ func TestData(t *testing.T) {
 			t.Errorf("of %d bytes there are %d", many, n)
 		}
 	}
+}
+
+func TestMemory(t *testing.T) {
+	f := api.Frame{ID: 5, Dlc: 1, Data: []byte{7}}
+	roomy := samples.Roomy(f)
+	whole := samples.Whole(roomy)
+	if !samples.Same(roomy, f) || len(whole.Data) < 2 || whole.ID != 5 {
+		t.Errorf("with room behind its data %v is %v, the whole of it %v", f, roomy, whole)
+	}
+	before := bytes.Clone(whole.Data)
+	samples.Spoil(roomy)
+	for i, b := range whole.Data {
+		if b == before[i] {
+			t.Errorf("byte %d of %d is not written over", i, len(before))
+		}
+	}
+	if f.Data[0] != 7 {
+		t.Errorf("what is written over has the memory of another frame, which is %v now", f)
+	}
+	samples.Spoil(api.Frame{})
 }
 
 func TestSameCtl(t *testing.T) {
