@@ -58,9 +58,6 @@ func (b *bus) steps(many int) {
 	}
 }
 
-// are reports whether two lists of frames are the same.
-func are(l []api.Frame, want ...api.Frame) bool { return slices.EqualFunc(l, want, samples.Same) }
-
 // A controller that is off drives recessive, whatever it has, and whatever it samples.
 func TestOffIsRecessive(t *testing.T) {
 	r := rand.New(rand.NewPCG(1, 8))
@@ -115,7 +112,7 @@ func TestSendersThatAreAlone(t *testing.T) {
 	b.l = append(b.l, api.Ctl{})
 	b.told, b.sent, b.taken = append(b.told, ""), append(b.sent, nil), append(b.taken, nil)
 	b.steps(len(s))
-	if !are(b.sent[0], own) || !are(b.taken[1], own) || b.l[0].Conf.TEC != 127 {
+	if !samples.Are(b.sent[0], own) || !samples.Are(b.taken[1], own) || b.l[0].Conf.TEC != 127 {
 		t.Errorf("with another one it has sent %v, which has taken %v; %+v", b.sent[0], b.taken[1], b.l[0])
 	}
 }
@@ -133,14 +130,14 @@ func TestTwoSenders(t *testing.T) {
 			first, second := samples.Acked(samples.Wire(f)), samples.Acked(samples.Wire(g))
 			b := newBus(given(t, api.Ctl{}, f), given(t, api.Ctl{}, g), api.Ctl{})
 			b.steps(len(first))
-			if b.row != first || b.told[0] != many("-", len(first)-1)+"s" || !are(b.sent[0], f) {
+			if b.row != first || b.told[0] != many("-", len(first)-1)+"s" || !samples.Are(b.sent[0], f) {
 				t.Fatalf("%v with %v is told %q, and %q is on the bus", f, g, b.told[0], b.row)
 			}
-			if !are(b.taken[1], f) || !are(b.taken[2], f) || strings.Count(b.told[1], "l") != 1 || len(b.sent[1]) > 0 {
+			if !samples.Are(b.taken[1], f) || !samples.Are(b.taken[2], f) || strings.Count(b.told[1], "l") != 1 || len(b.sent[1]) > 0 {
 				t.Fatalf("%v against %v is told %q", g, f, b.told[1])
 			}
 			b.steps(3 + len(second))
-			if b.row != first+"rrr"+second || !are(b.sent[0], f) || !are(b.sent[1], g) || !are(b.taken[0], g) || !are(b.taken[2], f, g) {
+			if b.row != first+"rrr"+second || !samples.Are(b.sent[0], f) || !samples.Are(b.sent[1], g) || !samples.Are(b.taken[0], g) || !samples.Are(b.taken[2], f, g) {
 				t.Fatalf("%v behind %v: %q is on the bus; told is %q (%d, %d)", g, f, b.row, b.told, i, k)
 			}
 			for n, c := range b.l {
@@ -173,7 +170,7 @@ func TestManySenders(t *testing.T) {
 			want += samples.Acked(samples.Wire(f)) + "rrr"
 		}
 		b.steps(len(want))
-		if b.row != want || !are(b.taken[len(l)], frames...) {
+		if b.row != want || !samples.Are(b.taken[len(l)], frames...) {
 			t.Fatalf("of many senders %v was taken; %q was on the bus", b.taken[len(l)], b.row)
 		}
 	}
@@ -193,7 +190,7 @@ func TestErrorAtTheLastBitButOne(t *testing.T) {
 		if !slices.Equal(b.told, want) || b.row != s[:len(s)-1]+"d"+"dddddd"+many("r", 11)+s {
 			t.Fatalf("%v: told is %q, not %q, and %q was on the bus", f, b.told, want, b.row)
 		}
-		if !are(b.sent[0], f) || !are(b.taken[1], f) || !are(b.taken[2], f, f) {
+		if !samples.Are(b.sent[0], f) || !samples.Are(b.taken[1], f) || !samples.Are(b.taken[2], f, f) {
 			t.Fatalf("%v: sent is %v, and taken %v", f, b.sent, b.taken)
 		}
 		for n, c := range []api.Conf{{TEC: 7}, {REC: 8}, {}} {
@@ -234,7 +231,7 @@ func TestErrorsOfOneReceiver(t *testing.T) {
 				t.Errorf("an error at bit %d: controller %d has %v, not %v", x.at, n, got, want)
 			}
 		}
-		if !are(b.sent[0], f) || !are(b.taken[1], f) || !are(b.taken[2], f) {
+		if !samples.Are(b.sent[0], f) || !samples.Are(b.taken[1], f) || !samples.Are(b.taken[2], f) {
 			t.Errorf("an error at bit %d: sent is %v, and taken %v", x.at, b.sent, b.taken)
 		}
 	}
@@ -270,7 +267,7 @@ func TestSentIsWhatWasGiven(t *testing.T) {
 			for i, c := range b.l {
 				is := strings.HasSuffix(b.told[i], "s")
 				switch {
-				case is && (has[i] == nil || c.Has || !are(b.sent[i], *has[i])):
+				case is && (has[i] == nil || c.Has || !samples.Are(b.sent[i], *has[i])):
 					t.Fatalf("controller %d has sent %v", i, b.sent[i])
 				case !is && (c.Has != (has[i] != nil) || c.Has && !samples.Same(c.Give, *has[i]) || len(b.sent[i]) > 0):
 					t.Fatalf("controller %d is told %q, and is %+v", i, b.told[i][len(b.told[i])-1:], c)

@@ -7,6 +7,7 @@ import (
 
 	"jackstay/api"
 	"jackstay/filter"
+	"jackstay/samples"
 )
 
 // P11.2
@@ -58,8 +59,8 @@ func TestCovers(t *testing.T) {
 // A filter that is not right covers none, and none covers it.
 func TestCoversOfWrongFilters(t *testing.T) {
 	some := []api.Filter{base(0, 0), base(7, 1), base(api.MaxBase, 5), extended(0, 0), extended(7, 1), extended(api.MaxExt, 5)}
-	for _, x := range wrongFilters() {
-		for _, y := range append(slices.Clone(some), wrongFilters()...) {
+	for _, x := range samples.WrongFilters() {
+		for _, y := range append(slices.Clone(some), samples.WrongFilters()...) {
 			if filter.Covers(x, y) || filter.Covers(y, x) {
 				t.Errorf("of %v and %v one covers the other one", x, y)
 			}

@@ -24,7 +24,7 @@ func TestRight(t *testing.T) {
 			t.Errorf("%v is not right", x)
 		}
 	}
-	for _, x := range wrongFilters() {
+	for _, x := range samples.WrongFilters() {
 		if filter.Right(x) {
 			t.Errorf("%v is right", x)
 		}
@@ -187,7 +187,7 @@ func TestAnEmptyList(t *testing.T) {
 
 // Filters that are not right accept nothing: a list of them is not an empty one.
 func TestWrongFiltersAlone(t *testing.T) {
-	wrong := wrongFilters()
+	wrong := samples.WrongFilters()
 	for _, f := range append(samples.Right(), samples.Wrong()...) {
 		if i, ok := filter.First(wrong, f); i != 0 || ok || filter.Pass(wrong, f) {
 			t.Errorf("%v passes wrong filters", f)
@@ -203,7 +203,7 @@ func TestWrongFiltersAlone(t *testing.T) {
 // Beside right filters they change nothing but indexes.
 func TestWrongFiltersBesideRightOnes(t *testing.T) {
 	some := []api.Filter{base(7, 1), extended(7, 2), base(0x400, 0x400)}
-	for _, x := range wrongFilters() {
+	for _, x := range samples.WrongFilters() {
 		l := []api.Filter{x, some[0], x, some[1], some[2], x}
 		places := []int{1, 3, 4}
 		for _, f := range samples.Right() {

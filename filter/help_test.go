@@ -99,19 +99,6 @@ func sums(bits []int) []uint32 {
 	return l
 }
 
-// wrongFilters are some that are not right, each of which would accept frames if nobody
-// asked whether it is.
-func wrongFilters() []api.Filter {
-	return []api.Filter{
-		base(1<<11, 0), base(1<<12-1, 5), base(1<<31, 0), base(1<<32-1, 0),
-		base(1<<11, 1<<11), base(0, 1<<11), base(1<<11-1, 1<<11),
-		base(0, 1), base(7, 8), base(7, 9), base(1<<11-2, 1<<11-1), base(1<<10, 1),
-		extended(1<<29, 0), extended(1<<30-1, 5), extended(1<<31, 0), extended(1<<32-1, 0),
-		extended(1<<29, 1<<29), extended(0, 1<<29), extended(1<<29-1, 1<<29),
-		extended(0, 1), extended(7, 8), extended(7, 9), extended(1<<29-2, 1<<29-1), extended(1<<28, 1),
-	}
-}
-
 // someFilter is a filter of either kind; its mask has few ones, or few zeros, and it is
 // right, mostly.
 func someFilter(r *rand.Rand) api.Filter {

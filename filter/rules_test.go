@@ -32,7 +32,7 @@ func TestEveryCallHasAResult(t *testing.T) {
 
 // R1: so do long lists, which have no limit of their own.
 func TestLongLists(t *testing.T) {
-	wrong := slices.Repeat(wrongFilters(), 5000)
+	wrong := slices.Repeat(samples.WrongFilters(), 5000)
 	for _, l := range [][]api.Filter{wrong, append(slices.Clone(wrong), base(0, 0)), append(slices.Clone(wrong), base(7, 1), extended(0, 0))} {
 		hold(t, l, api.Frame{ID: 1})
 		hold(t, l, api.Frame{ID: 2})
@@ -60,7 +60,7 @@ func TestErrorsChangeNothing(t *testing.T) {
 		if l, e := filter.Only(upTo(0, 65), false); l != nil || e != api.ErrFull {
 			t.Errorf("round %d: Only is %v, error %d", round, l, e)
 		}
-		if i, ok := filter.First(wrongFilters(), api.Frame{ID: 5}); i != 0 || ok {
+		if i, ok := filter.First(samples.WrongFilters(), api.Frame{ID: 5}); i != 0 || ok {
 			t.Errorf("round %d: First is %d, %v", round, i, ok)
 		}
 		if l := only(t, ids, false); !slices.Equal(l, []api.Filter{base(2047, 3), base(2047, 5)}) {
@@ -87,7 +87,7 @@ func TestArgumentsStayAsTheyAre(t *testing.T) {
 			}
 		}
 	}
-	whole := append(wrongFilters(), base(7, 5), extended(7, 5), base(0, 0))
+	whole := append(samples.WrongFilters(), base(7, 5), extended(7, 5), base(0, 0))
 	before := slices.Clone(whole)
 	f := api.Frame{ID: 5, Dlc: 3, Data: samples.Data(3)}
 	for long := range len(whole) + 1 {
@@ -146,7 +146,7 @@ func TestResultsHangOnArgumentsAlone(t *testing.T) {
 
 // R6: an empty list is as good as nil.
 func TestEmptyIsNil(t *testing.T) {
-	for _, l := range [][]api.Filter{nil, {}, make([]api.Filter, 0, 8), wrongFilters()[:0]} {
+	for _, l := range [][]api.Filter{nil, {}, make([]api.Filter, 0, 8), samples.WrongFilters()[:0]} {
 		for _, f := range samples.Some() {
 			if i, ok := filter.First(l, f); i != 0 || ok || !filter.Pass(l, f) {
 				t.Errorf("of no filters, nil %v, First is %d, %v", l == nil, i, ok)

@@ -16,28 +16,13 @@ import (
 
 // P9.3: what follows from all that.
 
-// sorted are the nodes that have these frames, in the order in which they win.
-func sorted(l []api.Frame) []int {
-	var nodes []int
-	for i := range l {
-		nodes = append(nodes, i)
-	}
-	slices.SortFunc(nodes, func(a, b int) int {
-		if frame.Before(l[a], l[b]) {
-			return -1
-		}
-		return 1
-	})
-	return nodes
-}
-
 // Frames that are given at once are all sent, one after the other, and taken by all
 // other nodes; nodes that have lost the arbitration go on with the next one.
 func TestFramesAtOnce(t *testing.T) {
 	for seed := range uint64(62) {
 		r := rand.New(rand.NewPCG(seed, 9))
 		nodes := 2 + int(seed%31)
-		frames := apart(r, max(1, nodes-r.IntN(3)))
+		frames := samples.Apart(r.Perm, max(1, nodes-r.IntN(3)))
 		// The nodes behind those with frames have none.
 		n := made(t, nodes)
 		for node, f := range frames {
@@ -54,8 +39,8 @@ func checkAtOnce(t *testing.T, n api.Net, frames []api.Frame) {
 	row := ""
 	want := make([]string, len(n.Nodes))
 	taken := make([][]api.Frame, len(n.Nodes))
-	for _, from := range sorted(frames) {
-		s := acked(frames[from])
+	for _, from := range samples.Sorted(frames) {
+		s := samples.OnBus(frames[from])
 		row += s + "rrr"
 		for node := range want {
 			if node == from {
@@ -81,13 +66,13 @@ func checkAtOnce(t *testing.T, n api.Net, frames []api.Frame) {
 		var sent []api.Frame
 		place := 0
 		if node < len(frames) {
-			sent, place = frames[node:node+1], slices.Index(sorted(frames), node)
+			sent, place = frames[node:node+1], slices.Index(samples.Sorted(frames), node)
 		}
 		// It has lost once against each frame that was sent ahead of its own.
 		if strings.Count(said, "l") != place {
 			t.Fatalf("of %v node %d is told %q; its frame is number %d", frames, node, said, place)
 		}
-		if !are(b.sent[node], sent...) || !are(b.taken[node], taken[node]...) {
+		if !samples.Are(b.sent[node], sent...) || !samples.Are(b.taken[node], taken[node]...) {
 			t.Fatalf("of %v node %d has sent %v, and taken %v", frames, node, b.sent[node], b.taken[node])
 		}
 		if c := b.n.Nodes[node]; c.Conf != (api.Conf{}) || c.Has {
@@ -143,16 +128,16 @@ func TestNodesThatLost(t *testing.T) {
 			if c := b.n.Nodes[1]; !c.Has || c.Sends || !samples.Same(c.Give, g) || !b.n.Nodes[2].Sends {
 				t.Fatalf("against %v, with %v, node 1 is %+v", f, g, c)
 			}
-			b.steps(len(acked(f)) - len(b.row))
-			if b.row != acked(f) || !are(b.sent[2], f) || !are(b.taken[0], f) || !are(b.taken[1], f) || len(b.sent[1]) > 0 {
+			b.steps(len(samples.OnBus(f)) - len(b.row))
+			if b.row != samples.OnBus(f) || !samples.Are(b.sent[2], f) || !samples.Are(b.taken[0], f) || !samples.Are(b.taken[1], f) || len(b.sent[1]) > 0 {
 				t.Fatalf("of %v and %v %q is on the bus", f, g, b.row)
 			}
 			without, ok := net.Drop(b.n, 1)
 			if !ok || !net.Quiet(behind(t, without, 3)) {
 				t.Fatalf("behind %v Drop of %v is %v", f, g, ok)
 			}
-			b.steps(3 + len(acked(g)))
-			if b.row != acked(f)+"rrr"+acked(g) || !are(b.sent[1], g) || !are(b.taken[0], f, g) || !are(b.taken[2], g) {
+			b.steps(3 + len(samples.OnBus(g)))
+			if b.row != samples.OnBus(f)+"rrr"+samples.OnBus(g) || !samples.Are(b.sent[1], g) || !samples.Are(b.taken[0], f, g) || !samples.Are(b.taken[2], g) {
 				t.Fatalf("behind %v and %v %q is on the bus", f, g, b.row)
 			}
 		}
@@ -180,7 +165,7 @@ func TestFlipAtTheLastBitButOne(t *testing.T) {
 // flips of another one at the last bit but one.
 func checkLastButOne(t *testing.T, n api.Net, f api.Frame, from, at int, flips []int) {
 	t.Helper()
-	s := acked(f)
+	s := samples.OnBus(f)
 	b := newRun(t, n)
 	b.steps(len(s) - 2)
 	b.step(flips...)
@@ -198,10 +183,10 @@ func checkLastButOne(t *testing.T, n api.Net, f api.Frame, from, at int, flips [
 		case at:
 			want, taken, conf.REC = ahead+"m-"+between+ahead+"t-", []api.Frame{f}, 8
 		}
-		if said != want || !are(b.taken[node], taken...) || b.n.Nodes[node].Conf != conf {
+		if said != want || !samples.Are(b.taken[node], taken...) || b.n.Nodes[node].Conf != conf {
 			t.Fatalf("%v, a flip of %d: node %d is told %q, not %q, and has %v", f, at, node, said, want, b.n.Nodes[node].Conf)
 		}
-		if node != from && len(b.sent[node]) > 0 || node == from && !are(b.sent[node], f) {
+		if node != from && len(b.sent[node]) > 0 || node == from && !samples.Are(b.sent[node], f) {
 			t.Fatalf("%v, a flip of %d: node %d has sent %v", f, at, node, b.sent[node])
 		}
 	}
@@ -213,14 +198,14 @@ func checkLastButOne(t *testing.T, n api.Net, f api.Frame, from, at int, flips [
 // The sender crashes ahead of the second time: one receiver never has the frame.
 func TestSenderCrashesBetween(t *testing.T) {
 	for wait := range 17 {
-		s := acked(first)
+		s := samples.OnBus(first)
 		b := newRun(t, given(t, made(t, 4), 3, first))
 		b.steps(len(s) - 2)
 		b.step(1, 1)
 		b.steps(1 + wait)
 		b.n = crashed(t, b.n, 3)
 		b.steps(300)
-		if !are(b.taken[0], first) || !are(b.taken[2], first) || len(b.taken[1]) > 0 || len(b.sent[3]) > 0 || !net.Quiet(b.n) {
+		if !samples.Are(b.taken[0], first) || !samples.Are(b.taken[2], first) || len(b.taken[1]) > 0 || len(b.sent[3]) > 0 || !net.Quiet(b.n) {
 			t.Errorf("a crash %d bits behind it: %v is taken, and %v sent; quiet is %v", wait, b.taken, b.sent, net.Quiet(b.n))
 		}
 	}
@@ -313,7 +298,7 @@ func TestExamples(t *testing.T) {
 		s := samples.Wire(f)
 		b := newRun(t, given(t, made(t, 2), 0, f))
 		b.steps(len(s))
-		if b.told[0] != many("-", len(s)-1)+"s" || b.told[1] != many("-", len(s)-2)+"t-" || !are(b.sent[0], f) || !are(b.taken[1], f) {
+		if b.told[0] != many("-", len(s)-1)+"s" || b.told[1] != many("-", len(s)-2)+"t-" || !samples.Are(b.sent[0], f) || !samples.Are(b.taken[1], f) {
 			t.Errorf("%v: told is %q", f, b.told)
 		}
 		// Both crash, at any bit.

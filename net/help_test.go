@@ -2,7 +2,6 @@ package net_test
 
 import (
 	"math"
-	"math/rand/v2"
 	"slices"
 	"strings"
 	"testing"
@@ -174,34 +173,8 @@ func (r *run) steps(many int) {
 	}
 }
 
-// are reports whether two lists of frames are the same.
-func are(l []api.Frame, want ...api.Frame) bool { return slices.EqualFunc(l, want, samples.Same) }
-
 // many is s so many times.
 func many(s string, times int) string { return strings.Repeat(s, times) }
-
-// acked is what is on the bus while a frame is sent that others acknowledge.
-func acked(f api.Frame) string { return samples.Acked(samples.Wire(f)) }
-
-// apart are so many frames that differ from each other in their IDs, their kinds, or
-// whether they are remote.
-func apart(r *rand.Rand, nodes int) []api.Frame {
-	type key struct {
-		id          uint32
-		ext, remote bool
-	}
-	met := map[key]bool{}
-	var l []api.Frame
-	all := samples.Right()
-	for _, i := range r.Perm(len(all)) {
-		f := all[i]
-		if k := (key{f.ID, f.Ext, f.Remote}); !met[k] && len(l) < nodes {
-			met[k] = true
-			l = append(l, f)
-		}
-	}
-	return l
-}
 
 // nets are some of many kinds: behind each bit of two frames that meet, with faults, and
 // with nodes that have crashed, or are off.

@@ -125,7 +125,7 @@ func TestDrop(t *testing.T) {
 // not as long as it sends it; and it is free for another one then.
 func TestDropAndGive(t *testing.T) {
 	n := given(t, given(t, made(t, 3), 0, first), 1, second)
-	for k := range len(acked(first)) {
+	for k := range len(samples.OnBus(first)) {
 		for node, f := range []api.Frame{first, second} {
 			got, ok := net.Drop(n, node)
 			if want := k == 0 || !n.Nodes[node].Sends; ok != want {
@@ -170,7 +170,7 @@ func TestCrash(t *testing.T) {
 
 // A crash is for good: whatever is done, the node stays as it was.
 func TestCrashIsForGood(t *testing.T) {
-	for at := range len(acked(first)) + 20 {
+	for at := range len(samples.OnBus(first)) + 20 {
 		n := given(t, given(t, made(t, 4), 2, first), 0, second)
 		n = crashed(t, behind(t, n, at), 2)
 		c := n.Nodes[2]

@@ -124,7 +124,7 @@ func TestErrorsChangeNothing(t *testing.T) {
 	if b.row != plain.row || !slices.Equal(b.told, plain.told) || !same(b.n, plain.n) {
 		t.Errorf("with errors it is told %q, and without %q", b.told, plain.told)
 	}
-	if !are(b.sent[0], first) || !are(b.sent[1], second) {
+	if !samples.Are(b.sent[0], first) || !samples.Are(b.sent[1], second) {
 		t.Errorf("with errors %v is sent", b.sent)
 	}
 }

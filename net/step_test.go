@@ -203,16 +203,16 @@ func TestOff(t *testing.T) {
 	// of them cut what it counts: behind that one row of 11 bits is missing.
 	r.steps(11*128 - 1)
 	r.n = given(t, r.n, 0, second)
-	r.steps(len(acked(second)) + 3)
-	if !are(r.sent[0], second) || !are(r.taken[2], second) || len(r.taken[1]) > 0 || r.n.Nodes[1].Phase != api.PhaseOff {
+	r.steps(len(samples.OnBus(second)) + 3)
+	if !samples.Are(r.sent[0], second) || !samples.Are(r.taken[2], second) || len(r.taken[1]) > 0 || r.n.Nodes[1].Phase != api.PhaseOff {
 		t.Fatalf("while it is off %v is sent, and taken %v", r.sent, r.taken)
 	}
 	r.steps(11)
 	if r.told[1][len(r.told[1])-1] != 'n' || r.n.Nodes[1].Conf != (api.Conf{}) {
 		t.Fatalf("on again it is told %q, and is %+v", r.told[1], r.n.Nodes[1])
 	}
-	r.steps(len(acked(first)))
-	if !are(r.sent[1], first) || !are(r.taken[0], first) || !are(r.taken[2], second, first) {
+	r.steps(len(samples.OnBus(first)))
+	if !samples.Are(r.sent[1], first) || !samples.Are(r.taken[0], first) || !samples.Are(r.taken[2], second, first) {
 		t.Errorf("on again %v is sent, and taken %v", r.sent, r.taken)
 	}
 }
@@ -227,7 +227,7 @@ func sampled(c api.Ctl, s string) api.Ctl {
 
 // What one node does makes a net quiet, or not, unless it has crashed.
 func TestQuiet(t *testing.T) {
-	s := acked(second)
+	s := samples.OnBus(second)
 	passive := api.Ctl{Conf: api.Conf{TEC: 130}}
 	with, _ := ctl.Give(passive, second)
 	off := api.Ctl{Phase: api.PhaseOff, Conf: api.Conf{TEC: 256, Off: true}}
@@ -289,7 +289,7 @@ func TestQuietIsTheEnd(t *testing.T) {
 			t.Error("a new net is not quiet")
 		}
 		n = given(t, n, 1, f)
-		for k := range len(acked(f)) + 3 {
+		for k := range len(samples.OnBus(f)) + 3 {
 			if net.Quiet(n) {
 				t.Fatalf("%v: behind %d bits it is quiet", f, k)
 			}
@@ -311,7 +311,7 @@ func TestQuietIsTheEnd(t *testing.T) {
 // too, and whatever they have.
 func TestSampledByCrashedNodes(t *testing.T) {
 	n := crashed(t, given(t, made(t, 4), 0, first), 1, 3)
-	for _, bit := range rows.Of(acked(first)) {
+	for _, bit := range rows.Of(samples.OnBus(first)) {
 		next, line := stepped(t, n, 1)
 		if want := []bool{bit, !bit, bit, bit}; line.Bus != bit || !slices.Equal(line.Sampled, want) {
 			t.Fatalf("of %v %v is sampled", line.Bus, line.Sampled)

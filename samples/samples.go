@@ -23,6 +23,9 @@ func Same(a, b api.Frame) bool {
 	return a.ID == b.ID && a.Ext == b.Ext && a.Remote == b.Remote && a.Dlc == b.Dlc && bytes.Equal(a.Data, b.Data)
 }
 
+// Are reports whether these frames are the wanted ones, in that order.
+func Are(l []api.Frame, want ...api.Frame) bool { return slices.EqualFunc(l, want, Same) }
+
 // SameCtl reports whether two controllers are; no bits, and no data, are as good as nil.
 func SameCtl(a, b api.Ctl) bool {
 	return a.Phase == b.Phase && a.N == b.N && a.Conf == b.Conf &&
@@ -61,6 +64,9 @@ func Wire(f api.Frame) string {
 
 // Acked is a wire form with a dominant acknowledgement.
 func Acked(s string) string { return rows.Turned(s, len(s)-ackBack) }
+
+// OnBus is what is on the bus while a right frame is sent that others acknowledge.
+func OnBus(f api.Frame) string { return Acked(Wire(f)) }
 
 // Data are so many bytes, 11 at most.
 func Data(many int) []byte { return []byte("\xa5\x00\xff\x01\x80\x7e\x3c\x55\xaa\x11\x22")[:many] }
@@ -102,6 +108,42 @@ func Some() []api.Frame {
 	return l
 }
 
+// Apart are so many right frames that differ from each other in their IDs, their kinds,
+// or whether they are remote. Which ones is told by the order that perm returns of the
+// numbers below a given one.
+func Apart(perm func(int) []int, many int) []api.Frame {
+	type key struct {
+		id          uint32
+		ext, remote bool
+	}
+	met := map[key]bool{}
+	var l []api.Frame
+	all := Right()
+	for _, i := range perm(len(all)) {
+		f := all[i]
+		if k := (key{f.ID, f.Ext, f.Remote}); !met[k] && len(l) < many {
+			met[k] = true
+			l = append(l, f)
+		}
+	}
+	return l
+}
+
+// Sorted are the places of these frames in the order in which they win: all differ.
+func Sorted(l []api.Frame) []int {
+	var places []int
+	for i := range l {
+		places = append(places, i)
+	}
+	slices.SortFunc(places, func(a, b int) int {
+		if frame.Before(l[a], l[b]) {
+			return -1
+		}
+		return 1
+	})
+	return places
+}
+
 // Wrong are some frames that are not right, each in one thing.
 func Wrong() []api.Frame {
 	l := []api.Frame{
@@ -129,4 +171,19 @@ func Wrong() []api.Frame {
 		}
 	}
 	return l
+}
+
+// WrongFilters are some that are not right, each of which would accept frames if nobody
+// asked whether it is.
+func WrongFilters() []api.Filter {
+	base := func(mask, match uint32) api.Filter { return api.Filter{Mask: mask, Match: match} }
+	extended := func(mask, match uint32) api.Filter { return api.Filter{Ext: true, Mask: mask, Match: match} }
+	return []api.Filter{
+		base(1<<11, 0), base(1<<12-1, 5), base(1<<31, 0), base(1<<32-1, 0),
+		base(1<<11, 1<<11), base(0, 1<<11), base(1<<11-1, 1<<11),
+		base(0, 1), base(7, 8), base(7, 9), base(1<<11-2, 1<<11-1), base(1<<10, 1),
+		extended(1<<29, 0), extended(1<<30-1, 5), extended(1<<31, 0), extended(1<<32-1, 0),
+		extended(1<<29, 1<<29), extended(0, 1<<29), extended(1<<29-1, 1<<29),
+		extended(0, 1), extended(7, 8), extended(7, 9), extended(1<<29-2, 1<<29-1), extended(1<<28, 1),
+	}
 }

@@ -2,6 +2,8 @@ package samples_test
 
 import (
 	"bytes"
+	"math/rand/v2"
+	"slices"
 	"testing"
 
 	"jackstay/api"
@@ -84,8 +86,45 @@ func TestWire(t *testing.T) {
 	if s != body+"rrrrrrrrrr" {
 		t.Errorf("ID 1 is %q", s)
 	}
-	if got := samples.Acked(s); got != body+"rdrrrrrrrr" {
+	if got := samples.Acked(s); got != body+"rdrrrrrrrr" || samples.OnBus(api.Frame{ID: 1}) != got {
 		t.Errorf("ID 1, acknowledged, is %q", got)
+	}
+}
+
+func TestAre(t *testing.T) {
+	f, g := api.Frame{ID: 5, Data: []byte{}}, api.Frame{ID: 6}
+	if !samples.Are([]api.Frame{f, g}, api.Frame{ID: 5}, g) || !samples.Are(nil) {
+		t.Error("frames that are the wanted ones are not")
+	}
+	for _, l := range [][]api.Frame{nil, {f}, {g, f}, {f, f}, {f, g, g}} {
+		if samples.Are(l, f, g) {
+			t.Errorf("%v are %v", l, []api.Frame{f, g})
+		}
+	}
+}
+
+func TestApart(t *testing.T) {
+	for _, many := range []int{0, 1, 7, 42} {
+		l := samples.Apart(rand.New(rand.NewPCG(uint64(many), 0)).Perm, many)
+		if len(l) != many {
+			t.Fatalf("of %d frames there are %d", many, len(l))
+		}
+		for i, f := range l {
+			same := func(g api.Frame) bool { return f.ID == g.ID && f.Ext == g.Ext && f.Remote == g.Remote }
+			if samples.Wire(f) == "" || slices.IndexFunc(l, same) != i {
+				t.Errorf("%v is not right, or one of several", f)
+			}
+		}
+	}
+}
+
+func TestSorted(t *testing.T) {
+	l := []api.Frame{{ID: 9}, {ID: 5, Remote: true}, {ID: 5, Data: []byte{}}, {ID: 6 << 18, Ext: true}, {ID: 0x7ff}}
+	if got := samples.Sorted(l); !slices.Equal(got, []int{2, 1, 3, 0, 4}) {
+		t.Errorf("%v are sorted by %v", l, got)
+	}
+	if got := samples.Sorted(nil); len(got) != 0 {
+		t.Errorf("no frames are sorted by %v", got)
 	}
 }
 
