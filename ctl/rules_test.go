@@ -111,30 +111,6 @@ func copied(c api.Ctl) api.Ctl {
 	return c
 }
 
-// roomy is c with room behind the ends of all its slices, which is filled.
-func roomy(c api.Ctl) api.Ctl {
-	fill := rows.Of("drdrdrdrdrdr")
-	c.Give = samples.Roomy(c.Give)
-	c.Wire = append(slices.Clone(c.Wire), fill...)[:len(c.Wire)]
-	c.Take.Bits = append(slices.Clone(c.Take.Bits), fill...)[:len(c.Take.Bits)]
-	return c
-}
-
-// whole is c with the room behind its slices' ends as a part of them.
-func whole(c api.Ctl) api.Ctl {
-	c.Give = samples.Whole(c.Give)
-	c.Wire, c.Take.Bits = c.Wire[:cap(c.Wire)], c.Take.Bits[:cap(c.Take.Bits)]
-	return c
-}
-
-// spoil writes over all memory of c.
-func spoil(c api.Ctl) {
-	c = whole(c)
-	samples.Spoil(c.Give)
-	rows.Turn(c.Wire)
-	rows.Turn(c.Take.Bits)
-}
-
 // within are controllers at all bits of some frames, which they read or send, and
 // behind an error, with room behind their slices.
 func within(t *testing.T) []api.Ctl {
@@ -142,10 +118,10 @@ func within(t *testing.T) []api.Ctl {
 	var l []api.Ctl
 	add := func(c api.Ctl, s string) {
 		for k := range len(s) {
-			l = append(l, roomy(c))
+			l = append(l, samples.RoomyCtl(c))
 			c = after(c, s[k:k+1])
 		}
-		l = append(l, roomy(c))
+		l = append(l, samples.RoomyCtl(c))
 	}
 	mine := samples.Made(0x155, false, false, 3)
 	s, foreign := samples.Acked(samples.Wire(mine)), samples.Acked(samples.Wire(samples.Made(0x100, true, false, 2)))
@@ -157,7 +133,7 @@ func within(t *testing.T) []api.Ctl {
 	add(api.Ctl{}, foreign+"dd")
 	add(api.Ctl{}, "dddddddddddddrrd")
 	for _, c := range places() {
-		l = append(l, roomy(c), roomy(given(t, c, mine)))
+		l = append(l, samples.RoomyCtl(c), samples.RoomyCtl(given(t, c, mine)))
 	}
 	return l
 }
@@ -183,19 +159,19 @@ func TestArgumentsStayAsTheyAre(t *testing.T) {
 	f := samples.Roomy(samples.Made(5, false, false, 8))
 	data := bytes.Clone(f.Data[:cap(f.Data)])
 	for _, c := range within(t) {
-		before := copied(whole(c))
+		before := copied(samples.WholeCtl(c))
 		ctl.Drive(c)
 		l, sent := results(t, c, f)
-		if !samples.SameCtl(whole(c), before) || !bytes.Equal(f.Data[:cap(f.Data)], data) {
-			t.Fatalf("the memory of\n%+v was\n%+v", whole(c), before)
+		if !samples.SameCtl(samples.WholeCtl(c), before) || !bytes.Equal(f.Data[:cap(f.Data)], data) {
+			t.Fatalf("the memory of\n%+v was\n%+v", samples.WholeCtl(c), before)
 		}
 		// Nor do they change with what is returned.
 		for _, got := range l {
-			spoil(got)
+			samples.SpoilCtl(got)
 		}
 		clear(sent.Data[:cap(sent.Data)])
-		if !samples.SameCtl(whole(c), before) || !bytes.Equal(f.Data[:cap(f.Data)], data) {
-			t.Fatalf("a result shares memory with its argument\n%+v, which was\n%+v", whole(c), before)
+		if !samples.SameCtl(samples.WholeCtl(c), before) || !bytes.Equal(f.Data[:cap(f.Data)], data) {
+			t.Fatalf("a result shares memory with its argument\n%+v, which was\n%+v", samples.WholeCtl(c), before)
 		}
 	}
 }
@@ -210,18 +186,18 @@ func TestResultsAreNew(t *testing.T) {
 			kept = append(kept, copied(got))
 		}
 		data := bytes.Clone(sent.Data)
-		spoil(c)
+		samples.SpoilCtl(c)
 		clear(f.Data)
 		for i := range l {
 			if !samples.SameCtl(l[i], kept[i]) {
 				t.Fatalf("result %d has become\n%+v, and was\n%+v", i, l[i], kept[i])
 			}
-			spoil(l[i])
+			samples.SpoilCtl(l[i])
 		}
 		if !bytes.Equal(sent.Data, data) {
 			t.Fatalf("the frame that was told has become %v, and was %v", sent, data)
 		}
-		spoil(c)
+		samples.SpoilCtl(c)
 	}
 }
 

@@ -13,7 +13,6 @@ import (
 
 	"jackstay/api"
 	"jackstay/net"
-	"jackstay/rows"
 	"jackstay/samples"
 )
 
@@ -177,10 +176,7 @@ func image(v reflect.Value) string {
 func roomy(n api.Net) api.Net {
 	var nodes []api.Ctl
 	for _, c := range append(slices.Clone(n.Nodes), api.Ctl{Has: true, Give: first}, api.Ctl{Phase: api.PhaseFlag}) {
-		c.Give = samples.Roomy(c.Give)
-		c.Wire = append(slices.Clone(c.Wire), rows.Of("drdrdrdr")...)[:len(c.Wire)]
-		c.Take.Bits = append(slices.Clone(c.Take.Bits), rows.Of("rdrdrdrd")...)[:len(c.Take.Bits)]
-		nodes = append(nodes, c)
+		nodes = append(nodes, samples.RoomyCtl(c))
 	}
 	n.Crashed = append(slices.Clone(n.Crashed), true, true)[:len(n.Crashed)]
 	n.Nodes = nodes[:len(n.Nodes)]

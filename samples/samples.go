@@ -56,6 +56,30 @@ func Spoil(f api.Frame) {
 	}
 }
 
+// RoomyCtl is c with all its slices in memory of their own, and more behind their ends.
+func RoomyCtl(c api.Ctl) api.Ctl {
+	more := rows.Of("drdrdrdrdrdr")
+	c.Give = Roomy(c.Give)
+	c.Wire = append(slices.Clone(c.Wire), more...)[:len(c.Wire)]
+	c.Take.Bits = append(slices.Clone(c.Take.Bits), more...)[:len(c.Take.Bits)]
+	return c
+}
+
+// WholeCtl is c with the room behind its slices' ends as a part of them.
+func WholeCtl(c api.Ctl) api.Ctl {
+	c.Give = Whole(c.Give)
+	c.Wire, c.Take.Bits = c.Wire[:cap(c.Wire)], c.Take.Bits[:cap(c.Take.Bits)]
+	return c
+}
+
+// SpoilCtl writes over all memory of c.
+func SpoilCtl(c api.Ctl) {
+	c = WholeCtl(c)
+	Spoil(c.Give)
+	rows.Turn(c.Wire)
+	rows.Turn(c.Take.Bits)
+}
+
 // Wire is the wire form of a right frame.
 func Wire(f api.Frame) string {
 	l, _ := frame.Wire(f)

@@ -7,6 +7,7 @@ import (
 	"testing"
 
 	"jackstay/api"
+	"jackstay/rows"
 	"jackstay/samples"
 )
 
@@ -55,6 +56,32 @@ func TestMemory(t *testing.T) {
 		t.Errorf("what is written over has the memory of another frame, which is %v now", f)
 	}
 	samples.Spoil(api.Frame{})
+}
+
+func TestMemoryOfControllers(t *testing.T) {
+	c := api.Ctl{N: 3, Give: samples.Made(5, false, false, 2), Wire: rows.Of("drd")}
+	c.Take.Bits = rows.Of("rr")
+	roomy := samples.RoomyCtl(c)
+	whole := samples.WholeCtl(roomy)
+	if !samples.SameCtl(roomy, c) || len(whole.Give.Data) < 3 || len(whole.Wire) < 4 || len(whole.Take.Bits) < 3 || whole.N != 3 {
+		t.Errorf("with room behind its slices %+v is %+v, the whole of it %+v", c, roomy, whole)
+	}
+	data, wire, bits := string(whole.Give.Data), rows.Text(whole.Wire), rows.Text(whole.Take.Bits)
+	samples.SpoilCtl(roomy)
+	for i := range data {
+		if whole.Give.Data[i] == data[i] {
+			t.Errorf("byte %d of %d is not written over", i, len(data))
+		}
+	}
+	rows.Turn(whole.Wire)
+	rows.Turn(whole.Take.Bits)
+	if rows.Text(whole.Wire) != wire || rows.Text(whole.Take.Bits) != bits {
+		t.Errorf("not all bits are written over: %+v", whole)
+	}
+	if rows.Text(c.Wire) != "drd" || rows.Text(c.Take.Bits) != "rr" || !samples.Same(c.Give, samples.Made(5, false, false, 2)) {
+		t.Errorf("what is written over has the memory of another one, which is %+v now", c)
+	}
+	samples.SpoilCtl(api.Ctl{})
 }
 
 func TestSameCtl(t *testing.T) {
